@@ -3,12 +3,11 @@ package store
 import (
 	"fmt"
 	"math"
-	"slices"
 	"strconv"
-	"sync"
 	"testing"
 
 	"chorus/api"
+	"chorus/samples"
 )
 
 // absent stands for a row that has no number, where a test tells rows as numbers.
@@ -26,37 +25,6 @@ func (r rows) state() api.State {
 		}
 	}
 	return s
-}
-
-// same: are the states' numbers the same ones? (An empty row and nil are one.)
-func same(s, t api.State) bool {
-	for i := range s.Rows {
-		if !slices.Equal(s.Rows[i], t.Rows[i]) {
-			return false
-		}
-	}
-	return true
-}
-
-// isZero: is it the state's zero value, nil rows and all?
-func isZero(s api.State) bool {
-	for _, row := range s.Rows {
-		if row != nil {
-			return false
-		}
-	}
-	return true
-}
-
-// deep: a copy that no call under test has made.
-func deep(s api.State) api.State {
-	var t api.State
-	for i, row := range s.Rows {
-		for _, x := range row {
-			t.Rows[i] = append(t.Rows[i], x)
-		}
-	}
-	return t
 }
 
 // want: the chapter's words over rows told plainly.
@@ -85,10 +53,10 @@ func check(t *testing.T, r rows, o api.Op) {
 	s := r.state()
 	after, answer := want(r, o)
 	got, a, e := Apply(s, o)
-	if !same(got, after.state()) || a != answer || e != api.OK {
+	if !samples.Same(got, after.state()) || a != answer || e != api.OK {
 		t.Fatalf("P3.1: %v, %v: %v, %d, %d; want %v, %d", s, o, got, a, e, after.state(), answer)
 	}
-	if !same(s, r.state()) {
+	if !samples.Same(s, r.state()) {
 		t.Fatalf("R4: %v: %v turned to %v", o, r.state(), s)
 	}
 }
@@ -107,18 +75,6 @@ func someRows() []rows {
 		}
 	}
 	return all
-}
-
-// opsOf: every operation that may be, with these arguments where its code has one.
-func opsOf(args ...int) []api.Op {
-	ops := []api.Op{{Code: 3}}
-	for row := range 4 {
-		ops = append(ops, api.Op{Code: 2, Row: row})
-		for _, arg := range args {
-			ops = append(ops, api.Op{Code: 0, Row: row, Arg: arg}, api.Op{Code: 1, Row: row, Arg: arg})
-		}
-	}
-	return ops
 }
 
 // told is a call written out, with what it must answer.
@@ -167,14 +123,14 @@ func views() []told {
 func TestCallsWrittenOut(t *testing.T) {
 	for _, x := range append(updates(), views()...) {
 		got, a, e := Apply(x.before.state(), x.op)
-		if !same(got, x.after.state()) || a != x.answer || e != api.OK {
+		if !samples.Same(got, x.after.state()) || a != x.answer || e != api.OK {
 			t.Errorf("P3.1: %s: %v, %d, %d; want %v, %d", x.name, got, a, e, x.after.state(), x.answer)
 		}
 	}
 }
 
 func TestEveryKindOfStateAndOperation(t *testing.T) {
-	ops := opsOf(0, 1, 77, 254, 255)
+	ops := samples.Ops(0, 1, 77, 254, 255)
 	for _, r := range someRows() {
 		for _, o := range ops {
 			check(t, r, o)
@@ -187,7 +143,7 @@ func TestEveryNumberInEveryRow(t *testing.T) {
 		for x := range 256 {
 			r := rows{absent, 7, absent, 9}
 			r[row] = x
-			for _, o := range opsOf(x, 255-x) {
+			for _, o := range samples.Ops(x, 255-x) {
 				check(t, r, o)
 			}
 		}
@@ -199,9 +155,9 @@ func TestEmptyRowsThatAreNotNil(t *testing.T) {
 	for i := range s.Rows {
 		s.Rows[i] = []int{}
 	}
-	for _, o := range opsOf(0, 255) {
+	for _, o := range samples.Ops(0, 255) {
 		after, answer := want(rows{absent, absent, absent, absent}, o)
-		if got, a, e := Apply(s, o); !same(got, after.state()) || a != answer || e != api.OK {
+		if got, a, e := Apply(s, o); !samples.Same(got, after.state()) || a != answer || e != api.OK {
 			t.Errorf("P3.1: %v of empty rows: %v, %d, %d", o, got, a, e)
 		}
 	}
@@ -218,12 +174,8 @@ func wrongRows() [][]int {
 // refused: is it ErrStoreForm, and zero beside it?
 func refused(t *testing.T, s api.State, o api.Op) {
 	t.Helper()
-	old := deep(s)
-	if got, a, e := Apply(s, o); !isZero(got) || a != 0 || e != api.ErrStoreForm {
-		t.Errorf("P3.1: %v: %v, %d, %d; want ErrStoreForm alone", o, got, a, e)
-	}
-	if !same(s, old) {
-		t.Errorf("R4: %v: a state that was refused is changed", o)
+	if fault := samples.Refusal(Apply, s, o, api.ErrStoreForm); fault != "" {
+		t.Errorf("P3.1: %v: %s; want ErrStoreForm alone", o, fault)
 	}
 }
 
@@ -234,7 +186,7 @@ func TestStatesThatMayNotBe(t *testing.T) {
 			for _, r := range []rows{{absent, absent, absent, absent}, {0, 255, 3, 4}} {
 				s := r.state()
 				s.Rows[at] = wrong
-				for _, o := range opsOf(0, 255) {
+				for _, o := range samples.Ops(0, 255) {
 					refused(t, s, o)
 				}
 			}
@@ -242,25 +194,8 @@ func TestStatesThatMayNotBe(t *testing.T) {
 	}
 }
 
-// wrongOps: operations that may not be.
-func wrongOps() []api.Op {
-	ops := []api.Op{{Code: 2, Arg: 1}, {Code: 2, Row: 3, Arg: 255}, {Code: 3, Arg: 1}, {Code: 3, Row: 1}, {Code: 3, Row: 3}, {Code: 3, Row: 1, Arg: 1}}
-	for _, code := range []int{math.MinInt, -256, -1, 4, 5, 256, 257, math.MaxInt} {
-		ops = append(ops, api.Op{Code: code}, api.Op{Code: code, Row: 2, Arg: 9})
-	}
-	for code := range 4 {
-		for _, row := range []int{math.MinInt, -4, -1, 4, 5, 256, math.MaxInt} {
-			ops = append(ops, api.Op{Code: code, Row: row})
-		}
-		for _, arg := range []int{math.MinInt, -255, -1, 256, 300, math.MaxInt} {
-			ops = append(ops, api.Op{Code: code, Arg: arg})
-		}
-	}
-	return ops
-}
-
 func TestOperationsThatMayNotBe(t *testing.T) {
-	for _, o := range wrongOps() {
+	for _, o := range samples.WrongOps() {
 		refused(t, api.State{}, o)
 		refused(t, rows{0, 255, 3, 4}.state(), o)
 		for _, wrong := range wrongRows() {
@@ -269,88 +204,11 @@ func TestOperationsThatMayNotBe(t *testing.T) {
 	}
 }
 
-// spare is what stands in the room behind the rows that a test hands in.
-const spare = 99
-
-// roomy: the rows as pieces of one list, with room behind each that is another row's or nobody's.
-func roomy(r rows) (api.State, []int) {
-	room := slices.Repeat([]int{spare}, 16)
-	var s api.State
-	for i, x := range r {
-		s.Rows[i] = room[4*i : 4*i : 16]
-		if x != absent {
-			room[4*i] = x
-			s.Rows[i] = room[4*i : 4*i+1 : 16]
-		}
-	}
-	return s, room
-}
-
-// scribble writes over a state's rows and over all the room behind them.
-func scribble(s api.State) {
-	for _, row := range s.Rows {
-		row = row[:cap(row)]
-		for i := range row {
-			row[i] = -7
-		}
-	}
-}
-
-func TestWhatIsGivenStays(t *testing.T) {
-	for _, r := range []rows{{absent, absent, absent, absent}, {0, absent, 255, absent}, {1, 2, 3, 4}} {
-		for _, o := range append(opsOf(0, 77, 255), wrongOps()...) {
-			s, room := roomy(r)
-			old := slices.Clone(room)
-			got, _, _ := Apply(s, o)
-			if !slices.Equal(room, old) || !same(s, r.state()) {
-				t.Fatalf("R4: %v of %v changes what is given, or its spare room: %v", o, r, room)
-			}
-			scribble(got)
-			if !slices.Equal(room, old) || !same(s, r.state()) {
-				t.Fatalf("R4: %v of %v answers memory that was given: %v", o, r, room)
-			}
-		}
-	}
-}
-
-func TestAnswersKeepNothingOfWhatIsGiven(t *testing.T) {
-	for _, o := range opsOf(0, 77, 255) {
-		r := rows{1, absent, 3, 255}
-		s, _ := roomy(r)
-		after, _ := want(r, o)
-		got, _, _ := Apply(s, o)
-		scribble(s)
-		if !same(got, after.state()) {
-			t.Fatalf("R4: %v: the answer turns with what was given: %v", o, got)
-		}
-	}
-}
-
-func TestAnswersShareNothingWithEachOther(t *testing.T) {
-	for _, o := range opsOf(0, 77, 255) {
-		r := rows{1, absent, 3, 255}
-		after, _ := want(r, o)
-		s := r.state()
-		one, _, _ := Apply(s, o)
-		other, _, _ := Apply(s, o)
-		scribble(one)
-		if !same(other, after.state()) {
-			t.Fatalf("R4: %v: two answers share memory: %v", o, other)
-		}
-	}
-}
-
-func TestRowsOfOneAnswerShareNothing(t *testing.T) {
-	shared := []int{5}
-	for _, o := range opsOf(5, 6) {
-		got, _, _ := Apply(api.State{Rows: [4][]int{shared, shared, shared, shared}}, o)
-		after, _ := want(rows{5, 5, 5, 5}, o)
-		for i := range got.Rows {
-			scribble(api.State{Rows: [4][]int{got.Rows[i]}})
-			for j := i + 1; j < 4; j++ {
-				if !slices.Equal(got.Rows[j], after.state().Rows[j]) {
-					t.Fatalf("R4: %v: rows %d and %d of the answer share memory", o, i, j)
-				}
+func TestNothingIsChangedKeptOrShared(t *testing.T) {
+	for _, r := range []rows{{absent, absent, absent, absent}, {0, absent, 255, absent}, {1, 2, 3, 4}, {1, absent, 3, 255}, {5, 5, 5, 5}} {
+		for _, o := range append(samples.Ops(0, 5, 77, 255), samples.WrongOps()...) {
+			if fault := samples.Sharing(Apply, r.state(), o); fault != "" {
+				t.Fatalf("R4: %v of %v: %s", o, r, fault)
 			}
 		}
 	}
@@ -359,12 +217,12 @@ func TestRowsOfOneAnswerShareNothing(t *testing.T) {
 func TestOneBehindTheOther(t *testing.T) {
 	var s api.State
 	r := rows{absent, absent, absent, absent}
-	ops := opsOf(0, 3, 255)
+	ops := samples.Ops(0, 3, 255)
 	for n := range 2000 {
 		o := ops[(n*7+n/len(ops))%len(ops)]
 		after, answer := want(r, o)
 		got, a, e := Apply(s, o)
-		if !same(got, after.state()) || a != answer || e != api.OK {
+		if !samples.Same(got, after.state()) || a != answer || e != api.OK {
 			t.Fatalf("P3.1: call %d: %v, %v: %v, %d, %d", n, s, o, got, a, e)
 		}
 		s, r = got, after
@@ -373,29 +231,21 @@ func TestOneBehindTheOther(t *testing.T) {
 
 func TestAnswersHangOnNothingElse(t *testing.T) {
 	s := rows{1, absent, 3, 255}.state()
-	faults := make([]string, 8)
-	var wait sync.WaitGroup
-	for i := range faults {
-		wait.Go(func() { faults[i] = callAll(s, 200) })
-	}
-	wait.Wait()
-	for _, fault := range faults {
-		if fault != "" {
-			t.Error("R5: " + fault)
-		}
+	for _, fault := range samples.Together(func() string { return callAll(s, 200) }) {
+		t.Error("R5: " + fault)
 	}
 }
 
 // callAll makes the same calls of one state again and again; "" if each answer is the same every time.
 func callAll(s api.State, times int) string {
 	for n := range times {
-		for _, o := range opsOf(0, 77) {
+		for _, o := range samples.Ops(0, 77) {
 			after, answer := want(rows{1, absent, 3, 255}, o)
-			if got, a, e := Apply(s, o); !same(got, after.state()) || a != answer || e != api.OK {
+			if got, a, e := Apply(s, o); !samples.Same(got, after.state()) || a != answer || e != api.OK {
 				return "another answer at call " + strconv.Itoa(n) + " of " + fmt.Sprint(o)
 			}
 		}
-		if got, a, e := Apply(s, api.Op{Code: 4}); !isZero(got) || a != 0 || e != api.ErrStoreForm {
+		if got, a, e := Apply(s, api.Op{Code: 4}); !samples.IsZero(got) || a != 0 || e != api.ErrStoreForm {
 			return "another refusal at call " + strconv.Itoa(n)
 		}
 	}

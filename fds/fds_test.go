@@ -1,9 +1,7 @@
 package fds
 
 import (
-	"fmt"
 	"math"
-	"strconv"
 	"testing"
 
 	"chorus/api"
@@ -24,6 +22,17 @@ func (in table) state() api.State {
 		}
 	}
 	return s
+}
+
+// tableFrom: the state as a table.
+func tableFrom(s api.State) table {
+	var in table
+	for row := range 4 {
+		for _, x := range s.Rows[row] {
+			in[row][x] = true
+		}
+	}
+	return in
 }
 
 // tableOf: the n-th of the 65536 tables, four bits a row.
@@ -66,18 +75,22 @@ func want(in table, o api.Op) (table, int) {
 	return in, answer
 }
 
-// check applies o to the table, and holds what comes against the chapter's words.
-func check(t *testing.T, in table, o api.Op) {
-	t.Helper()
-	s := in.state()
-	after, answer := want(in, o)
-	got, a, e := Apply(s, o)
-	if !samples.Same(got, after.state()) || a != answer || e != api.OK {
-		t.Fatalf("P4.1: %v, %v: %v, %d, %d; want %v, %d", in.state(), o, got, a, e, after.state(), answer)
+// layer: this one.
+func layer() samples.Layer {
+	words := func(s api.State, o api.Op) (api.State, int) {
+		after, answer := want(tableFrom(s), o)
+		return after.state(), answer
 	}
-	if !samples.Same(s, in.state()) {
-		t.Fatalf("R4: %v: %v turned to %v", o, in.state(), s)
+	return samples.Layer{Apply: Apply, Want: words, Err: api.ErrFdsForm}
+}
+
+// statesOf: the tables of these numbers, as states.
+func statesOf(numbers ...int) []api.State {
+	var all []api.State
+	for _, n := range numbers {
+		all = append(all, tableOf(n).state())
 	}
+	return all
 }
 
 // list is a row of numbers.
@@ -181,37 +194,35 @@ func TestHowManyInAll(t *testing.T) {
 
 func TestEveryState(t *testing.T) {
 	for n := range 1 << 16 {
-		check(t, tableOf(n), api.Op{Code: api.CodeScan})
+		if fault := layer().Call(tableOf(n).state(), api.Op{Code: api.CodeScan}); fault != "" {
+			t.Fatal("P4.1: " + fault)
+		}
 	}
 }
 
 func TestEveryOperation(t *testing.T) {
 	// Each of the sixteen rows stands at each place, beside rows that are others each time.
-	ops := samples.Ops(0, 1, 2, 3, 4, 255)
+	var all []api.State
 	for n := 0; n < 1<<16; n += 17 {
-		for _, o := range ops {
-			check(t, tableOf(n), o)
-		}
+		all = append(all, tableOf(n).state())
+	}
+	if fault := layer().Calls(all, samples.Ops(0, 1, 2, 3, 4, 255)); fault != "" {
+		t.Error("P4.1: " + fault)
 	}
 }
 
 func TestEveryArgument(t *testing.T) {
 	for arg := range 256 {
-		for _, n := range []int{0, 0x8421, 0x1248, 0xe7db, 0xffff} {
-			for _, o := range samples.Ops(arg) {
-				check(t, tableOf(n), o)
-			}
+		if fault := layer().Calls(statesOf(0, 0x8421, 0x1248, 0xe7db, 0xffff), samples.Ops(arg)); fault != "" {
+			t.Error("P4.1: " + fault)
 		}
 	}
 }
 
 func TestEmptyRowsThatAreNotNil(t *testing.T) {
 	s := api.State{Rows: [4][]int{{}, {}, {}, {}}}
-	for _, o := range samples.Ops(0, 3, 255) {
-		after, answer := want(table{}, o)
-		if got, a, e := Apply(s, o); !samples.Same(got, after.state()) || a != answer || e != api.OK {
-			t.Errorf("P4.1: %v of empty rows: %v, %d, %d", o, got, a, e)
-		}
+	if fault := layer().Calls([]api.State{s}, samples.Ops(0, 3, 255)); fault != "" {
+		t.Error("P4.1: " + fault)
 	}
 }
 
@@ -226,26 +237,9 @@ func wrongRows() [][]int {
 	}
 }
 
-// refused: is it ErrFdsForm, and zero beside it?
-func refused(t *testing.T, s api.State, o api.Op) {
-	t.Helper()
-	if fault := samples.Refusal(Apply, s, o, api.ErrFdsForm); fault != "" {
-		t.Errorf("P4.1: %v: %s; want ErrFdsForm alone", o, fault)
-	}
-}
-
 func TestStatesThatMayNotBe(t *testing.T) {
-	// Each operation is refused, also one that does not touch the row in which the fault is.
-	for _, wrong := range wrongRows() {
-		for at := range 4 {
-			for _, n := range []int{0, 0xf5a1} {
-				s := tableOf(n).state()
-				s.Rows[at] = wrong
-				for _, o := range samples.Ops(0, 255) {
-					refused(t, s, o)
-				}
-			}
-		}
+	if fault := layer().WrongStates(statesOf(0, 0xf5a1), wrongRows()); fault != "" {
+		t.Error("P4.1: " + fault)
 	}
 }
 
@@ -274,13 +268,13 @@ func TestWhichShortRowsMayBe(t *testing.T) {
 	few := 0
 	for _, row := range shortRows() {
 		s := api.State{Rows: [4][]int{1: row}}
-		if !mayBe(row) {
-			refused(t, s, api.Op{Code: api.CodeLook})
-			continue
+		look := layer().Refusal
+		if mayBe(row) {
+			few++
+			look = layer().Call
 		}
-		few++
-		if got, a, e := Apply(s, api.Op{Code: api.CodeLook, Row: 1}); !samples.Same(got, s) || a != len(row) || e != api.OK {
-			t.Errorf("P4.1: %v: %v, %d, %d", s, got, a, e)
+		if fault := look(s, api.Op{Code: api.CodeLook, Row: 1}); fault != "" {
+			t.Error("P4.1: " + fault)
 		}
 	}
 	if few != 15 {
@@ -289,60 +283,28 @@ func TestWhichShortRowsMayBe(t *testing.T) {
 }
 
 func TestOperationsThatMayNotBe(t *testing.T) {
-	for _, o := range samples.WrongOps() {
-		refused(t, api.State{}, o)
-		refused(t, tableOf(0xf5a1).state(), o)
-		for _, wrong := range wrongRows() {
-			refused(t, api.State{Rows: [4][]int{2: wrong}}, o)
-		}
+	if fault := layer().WrongOps(statesOf(0, 0xf5a1)); fault != "" {
+		t.Error("P4.1: " + fault)
 	}
 }
 
 func TestNothingIsChangedKeptOrShared(t *testing.T) {
-	for _, n := range []int{0, 0xffff, 0xf0f0, 0x1111, 0x8421, 0x5a5a, 0x7bde, 0x7777, 0xeeee} {
-		s := tableOf(n).state()
-		for _, o := range append(samples.Ops(0, 1, 2, 3, 4, 255), samples.WrongOps()...) {
-			if fault := samples.Sharing(Apply, s, o); fault != "" {
-				t.Fatalf("R4: %v of %v: %s", o, s, fault)
-			}
-		}
+	all := statesOf(0, 0xffff, 0xf0f0, 0x1111, 0x8421, 0x5a5a, 0x7bde, 0x7777, 0xeeee)
+	if fault := layer().Sharing(all, samples.Ops(0, 1, 2, 3, 4, 255)); fault != "" {
+		t.Error("R4: " + fault)
 	}
 }
 
 func TestOneBehindTheOther(t *testing.T) {
-	var s api.State
-	var in table
-	ops := samples.Ops(0, 1, 3, 255)
-	for n := range 2000 {
-		o := ops[(n*7+n/len(ops))%len(ops)]
-		after, answer := want(in, o)
-		got, a, e := Apply(s, o)
-		if !samples.Same(got, after.state()) || a != answer || e != api.OK {
-			t.Fatalf("P4.1: call %d: %v, %v: %v, %d, %d", n, s, o, got, a, e)
-		}
-		s, in = got, after
+	if fault := layer().Behind(samples.Ops(0, 1, 3, 255), 2000); fault != "" {
+		t.Error("P4.1: " + fault)
 	}
 }
 
 func TestAnswersHangOnNothingElse(t *testing.T) {
-	s := tableOf(0xf5a1).state()
-	for _, fault := range samples.Together(func() string { return callAll(s, 200) }) {
-		t.Error("R5: " + fault)
-	}
-}
-
-// callAll makes the same calls of one state again and again; "" if each answer is the same every time.
-func callAll(s api.State, times int) string {
-	for n := range times {
-		for _, o := range samples.Ops(0, 3) {
-			after, answer := want(tableOf(0xf5a1), o)
-			if got, a, e := Apply(s, o); !samples.Same(got, after.state()) || a != answer || e != api.OK {
-				return "another answer at call " + strconv.Itoa(n) + " of " + fmt.Sprint(o)
-			}
-		}
-		if got, a, e := Apply(s, api.Op{Code: 4}); !samples.IsZero(got) || a != 0 || e != api.ErrFdsForm {
-			return "another refusal at call " + strconv.Itoa(n)
+	for _, s := range statesOf(0, 0xf5a1) {
+		if fault := layer().Together(s, samples.Ops(0, 3)); fault != "" {
+			t.Error("R5: " + fault)
 		}
 	}
-	return ""
 }

@@ -24,6 +24,27 @@ func Count(s api.State) int {
 	return total
 }
 
+// Turn: the row that an operation makes of one that it may write to; its answer.
+type Turn func(row []int, arg int) ([]int, int)
+
+// Counted: the state that o, which may be, makes of s, where looks and scans tell how many numbers there are; its answer.
+func Counted(s api.State, o api.Op, first, second Turn) (api.State, int) {
+	t := Copy(s)
+	row, answer := t.Rows[o.Row], 0
+	switch o.Code {
+	case api.CodeFirst:
+		row, answer = first(row, o.Arg)
+	case api.CodeSecond:
+		row, answer = second(row, o.Arg)
+	case api.CodeLook:
+		answer = len(row)
+	case api.CodeScan:
+		answer = Count(t)
+	}
+	t.Rows[o.Row] = row
+	return t, answer
+}
+
 // Copy: the same rows, in memory of their own.
 func Copy(s api.State) api.State {
 	var t api.State

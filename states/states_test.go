@@ -41,6 +41,29 @@ func TestCount(t *testing.T) {
 	}
 }
 
+func TestCountedAsksTheTurnOfTheCode(t *testing.T) {
+	first := func(row []int, arg int) ([]int, int) { return append(row, arg), 10 + len(row) }
+	second := func(row []int, arg int) ([]int, int) { return nil, 20 + arg }
+	for _, x := range []struct {
+		o      api.Op
+		after  [4][]int
+		answer int
+	}{
+		{api.Op{Code: api.CodeFirst, Row: 2, Arg: 9}, [4][]int{{1}, nil, {2, 3, 9}, {}}, 12},
+		{api.Op{Code: api.CodeFirst, Row: 3, Arg: 9}, [4][]int{{1}, nil, {2, 3}, {9}}, 10},
+		{api.Op{Code: api.CodeSecond, Row: 2, Arg: 9}, [4][]int{{1}, nil, nil, {}}, 29},
+		{api.Op{Code: api.CodeLook, Row: 2}, [4][]int{{1}, nil, {2, 3}, {}}, 2},
+		{api.Op{Code: api.CodeLook, Row: 1}, [4][]int{{1}, nil, {2, 3}, {}}, 0},
+		{api.Op{Code: api.CodeScan}, [4][]int{{1}, nil, {2, 3}, {}}, 3},
+	} {
+		s := some()[2]
+		got, a := Counted(s, x.o, first, second)
+		if !samples.Same(got, api.State{Rows: x.after}) || a != x.answer || !samples.Same(s, some()[2]) {
+			t.Errorf("%v: %v, %d, want %v, %d; %v", x.o, got, a, x.after, x.answer, s)
+		}
+	}
+}
+
 func TestCopyIsTheSameInMemoryOfItsOwn(t *testing.T) {
 	apply := func(s api.State, o api.Op) (api.State, int, api.Errno) { return Copy(s), 0, api.OK }
 	for _, s := range some() {

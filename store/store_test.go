@@ -1,9 +1,7 @@
 package store
 
 import (
-	"fmt"
 	"math"
-	"strconv"
 	"testing"
 
 	"chorus/api"
@@ -27,6 +25,17 @@ func (r rows) state() api.State {
 	return s
 }
 
+// rowsFrom: the state as rows told plainly.
+func rowsFrom(s api.State) rows {
+	r := rows{absent, absent, absent, absent}
+	for i, row := range s.Rows {
+		for _, x := range row {
+			r[i] = x
+		}
+	}
+	return r
+}
+
 // want: the chapter's words over rows told plainly.
 func want(r rows, o api.Op) (rows, int) {
 	if o.Code == 3 {
@@ -47,18 +56,22 @@ func want(r rows, o api.Op) (rows, int) {
 	return r, answer
 }
 
-// check applies o to the rows, and holds what comes against the chapter's words.
-func check(t *testing.T, r rows, o api.Op) {
-	t.Helper()
-	s := r.state()
-	after, answer := want(r, o)
-	got, a, e := Apply(s, o)
-	if !samples.Same(got, after.state()) || a != answer || e != api.OK {
-		t.Fatalf("P3.1: %v, %v: %v, %d, %d; want %v, %d", s, o, got, a, e, after.state(), answer)
+// layer: this one.
+func layer() samples.Layer {
+	words := func(s api.State, o api.Op) (api.State, int) {
+		after, answer := want(rowsFrom(s), o)
+		return after.state(), answer
 	}
-	if !samples.Same(s, r.state()) {
-		t.Fatalf("R4: %v: %v turned to %v", o, r.state(), s)
+	return samples.Layer{Apply: Apply, Want: words, Err: api.ErrStoreForm}
+}
+
+// statesOf: these rows, as states.
+func statesOf(all ...rows) []api.State {
+	var told []api.State
+	for _, r := range all {
+		told = append(told, r.state())
 	}
+	return told
 }
 
 // someRows: all rows of a few numbers, the edges among them.
@@ -130,11 +143,8 @@ func TestCallsWrittenOut(t *testing.T) {
 }
 
 func TestEveryKindOfStateAndOperation(t *testing.T) {
-	ops := samples.Ops(0, 1, 77, 254, 255)
-	for _, r := range someRows() {
-		for _, o := range ops {
-			check(t, r, o)
-		}
+	if fault := layer().Calls(statesOf(someRows()...), samples.Ops(0, 1, 77, 254, 255)); fault != "" {
+		t.Error("P3.1: " + fault)
 	}
 }
 
@@ -143,23 +153,17 @@ func TestEveryNumberInEveryRow(t *testing.T) {
 		for x := range 256 {
 			r := rows{absent, 7, absent, 9}
 			r[row] = x
-			for _, o := range samples.Ops(x, 255-x) {
-				check(t, r, o)
+			if fault := layer().Calls(statesOf(r), samples.Ops(x, 255-x)); fault != "" {
+				t.Error("P3.1: " + fault)
 			}
 		}
 	}
 }
 
 func TestEmptyRowsThatAreNotNil(t *testing.T) {
-	var s api.State
-	for i := range s.Rows {
-		s.Rows[i] = []int{}
-	}
-	for _, o := range samples.Ops(0, 255) {
-		after, answer := want(rows{absent, absent, absent, absent}, o)
-		if got, a, e := Apply(s, o); !samples.Same(got, after.state()) || a != answer || e != api.OK {
-			t.Errorf("P3.1: %v of empty rows: %v, %d, %d", o, got, a, e)
-		}
+	s := api.State{Rows: [4][]int{{}, {}, {}, {}}}
+	if fault := layer().Calls([]api.State{s}, samples.Ops(0, 255)); fault != "" {
+		t.Error("P3.1: " + fault)
 	}
 }
 
@@ -171,83 +175,40 @@ func wrongRows() [][]int {
 	}
 }
 
-// refused: is it ErrStoreForm, and zero beside it?
-func refused(t *testing.T, s api.State, o api.Op) {
-	t.Helper()
-	if fault := samples.Refusal(Apply, s, o, api.ErrStoreForm); fault != "" {
-		t.Errorf("P3.1: %v: %s; want ErrStoreForm alone", o, fault)
-	}
+// mixed: no numbers at all, and one in each row.
+func mixed() []api.State {
+	return statesOf(rows{absent, absent, absent, absent}, rows{0, 255, 3, 4})
 }
 
 func TestStatesThatMayNotBe(t *testing.T) {
-	// Each operation is refused, also one that does not touch the row in which the fault is.
-	for _, wrong := range wrongRows() {
-		for at := range 4 {
-			for _, r := range []rows{{absent, absent, absent, absent}, {0, 255, 3, 4}} {
-				s := r.state()
-				s.Rows[at] = wrong
-				for _, o := range samples.Ops(0, 255) {
-					refused(t, s, o)
-				}
-			}
-		}
+	if fault := layer().WrongStates(mixed(), wrongRows()); fault != "" {
+		t.Error("P3.1: " + fault)
 	}
 }
 
 func TestOperationsThatMayNotBe(t *testing.T) {
-	for _, o := range samples.WrongOps() {
-		refused(t, api.State{}, o)
-		refused(t, rows{0, 255, 3, 4}.state(), o)
-		for _, wrong := range wrongRows() {
-			refused(t, api.State{Rows: [4][]int{2: wrong}}, o)
-		}
+	if fault := layer().WrongOps(mixed()); fault != "" {
+		t.Error("P3.1: " + fault)
 	}
 }
 
 func TestNothingIsChangedKeptOrShared(t *testing.T) {
-	for _, r := range []rows{{absent, absent, absent, absent}, {0, absent, 255, absent}, {1, 2, 3, 4}, {1, absent, 3, 255}, {5, 5, 5, 5}} {
-		for _, o := range append(samples.Ops(0, 5, 77, 255), samples.WrongOps()...) {
-			if fault := samples.Sharing(Apply, r.state(), o); fault != "" {
-				t.Fatalf("R4: %v of %v: %s", o, r, fault)
-			}
-		}
+	all := statesOf(rows{absent, absent, absent, absent}, rows{0, absent, 255, absent}, rows{1, 2, 3, 4}, rows{1, absent, 3, 255}, rows{5, 5, 5, 5})
+	if fault := layer().Sharing(all, samples.Ops(0, 5, 77, 255)); fault != "" {
+		t.Error("R4: " + fault)
 	}
 }
 
 func TestOneBehindTheOther(t *testing.T) {
-	var s api.State
-	r := rows{absent, absent, absent, absent}
-	ops := samples.Ops(0, 3, 255)
-	for n := range 2000 {
-		o := ops[(n*7+n/len(ops))%len(ops)]
-		after, answer := want(r, o)
-		got, a, e := Apply(s, o)
-		if !samples.Same(got, after.state()) || a != answer || e != api.OK {
-			t.Fatalf("P3.1: call %d: %v, %v: %v, %d, %d", n, s, o, got, a, e)
-		}
-		s, r = got, after
+	if fault := layer().Behind(samples.Ops(0, 3, 255), 2000); fault != "" {
+		t.Error("P3.1: " + fault)
 	}
 }
 
 func TestAnswersHangOnNothingElse(t *testing.T) {
-	s := rows{1, absent, 3, 255}.state()
-	for _, fault := range samples.Together(func() string { return callAll(s, 200) }) {
-		t.Error("R5: " + fault)
-	}
-}
-
-// callAll makes the same calls of one state again and again; "" if each answer is the same every time.
-func callAll(s api.State, times int) string {
-	for n := range times {
-		for _, o := range samples.Ops(0, 77) {
-			after, answer := want(rows{1, absent, 3, 255}, o)
-			if got, a, e := Apply(s, o); !samples.Same(got, after.state()) || a != answer || e != api.OK {
-				return "another answer at call " + strconv.Itoa(n) + " of " + fmt.Sprint(o)
-			}
-		}
-		if got, a, e := Apply(s, api.Op{Code: 4}); !samples.IsZero(got) || a != 0 || e != api.ErrStoreForm {
-			return "another refusal at call " + strconv.Itoa(n)
+	for _, s := range mixed() {
+		if fault := layer().Together(s, samples.Ops(0, 77)); fault != "" {
+			t.Error("R5: " + fault)
 		}
 	}
-	return ""
 }

@@ -243,17 +243,6 @@ func TestStatesThatMayNotBe(t *testing.T) {
 	}
 }
 
-// shortRows: every row of at most three numbers from -1 to 4.
-func shortRows() [][]int {
-	all := [][]int{nil}
-	for from := 0; len(all[from]) < 3; from++ {
-		for x := -1; x <= 4; x++ {
-			all = append(all, append(list{}, append(all[from], x)...))
-		}
-	}
-	return all
-}
-
 // mayBe: is it one of the sixteen rows that may be?
 func mayBe(row []int) bool {
 	for n := range 16 {
@@ -264,9 +253,9 @@ func mayBe(row []int) bool {
 	return false
 }
 
-func TestWhichShortRowsMayBe(t *testing.T) {
+func TestWhichRowsMayBe(t *testing.T) {
 	few := 0
-	for _, row := range shortRows() {
+	for _, row := range samples.Rows(-1, 0, 1, 2, 3, 4) {
 		s := api.State{Rows: [4][]int{1: row}}
 		look := layer().Refusal
 		if mayBe(row) {
@@ -277,8 +266,8 @@ func TestWhichShortRowsMayBe(t *testing.T) {
 			t.Error("P4.1: " + fault)
 		}
 	}
-	if few != 15 {
-		t.Errorf("%d rows of at most three numbers may be, not 15", few)
+	if few != 16 {
+		t.Errorf("%d rows of at most four numbers may be, not 16", few)
 	}
 }
 

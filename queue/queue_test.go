@@ -38,16 +38,9 @@ func layer() samples.Layer {
 	return samples.Layer{Apply: Apply, Want: want, Err: api.ErrQueueForm}
 }
 
-// stateOf: these rows.
-func stateOf(rows ...list) api.State {
-	var s api.State
-	copy(s.Rows[:], rows)
-	return s
-}
-
 // mixed: no numbers at all, and rows of several lengths.
 func mixed() []api.State {
-	return []api.State{{}, stateOf(list{9}, list{0, 255, 0, 255}, nil, list{4, 4, 3})}
+	return []api.State{{}, samples.State(list{9}, list{0, 255, 0, 255}, nil, list{4, 4, 3})}
 }
 
 // told is a call of one row written out, with what it must answer.
@@ -152,24 +145,13 @@ func TestHowManyInAll(t *testing.T) {
 	}
 }
 
-// someRows: every row of at most four numbers out of these.
-func someRows(numbers ...int) []list {
-	all := []list{nil}
-	for from := 0; len(all[from]) < 4; from++ {
-		for _, x := range numbers {
-			all = append(all, slices.Concat(all[from], list{x}))
-		}
-	}
-	return all
-}
-
 func TestEveryKindOfRowAndOperation(t *testing.T) {
 	// Each row stands at each place, beside rows that are others each time.
-	rows := someRows(0, 1, 254, 255)
+	rows := samples.Rows(0, 1, 254, 255)
 	var all []api.State
 	for n := range rows {
 		at := func(row int) list { return rows[(n+row*85)%len(rows)] }
-		all = append(all, stateOf(at(0), at(1), at(2), at(3)))
+		all = append(all, samples.State(at(0), at(1), at(2), at(3)))
 	}
 	if fault := layer().Calls(all, samples.Ops(0, 1, 77, 255)); fault != "" {
 		t.Error("P5.1: " + fault)
@@ -179,7 +161,7 @@ func TestEveryKindOfRowAndOperation(t *testing.T) {
 func TestEveryLengthOfEveryRow(t *testing.T) {
 	var all []api.State
 	for n := range 5 * 5 * 5 * 5 {
-		all = append(all, stateOf(list{9, 3, 5, 4}[:n%5], list{0, 255, 0, 255}[:n/5%5], list{7, 7, 7, 7}[:n/25%5], list{1, 2, 3, 4}[:n/125]))
+		all = append(all, samples.State(list{9, 3, 5, 4}[:n%5], list{0, 255, 0, 255}[:n/5%5], list{7, 7, 7, 7}[:n/25%5], list{1, 2, 3, 4}[:n/125]))
 	}
 	if fault := layer().Calls(all, samples.Ops(0, 255)); fault != "" {
 		t.Error("P5.1: " + fault)
@@ -189,10 +171,10 @@ func TestEveryLengthOfEveryRow(t *testing.T) {
 func TestEveryNumberAndArgument(t *testing.T) {
 	for x := range 256 {
 		all := []api.State{
-			stateOf(list{x, 3, 5, 4}, list{x, 3, 5}, list{x, 3}, list{x}),
-			stateOf(list{9, x, 5, 4}, list{9, x, 5}, list{9, x}, nil),
-			stateOf(list{9, 3, x, 4}, list{9, 3, x}, list{x, x}, nil),
-			stateOf(list{9, 3, 5, x}, list{x, 3, x}, list{x, x, x, x}, list{}),
+			samples.State(list{x, 3, 5, 4}, list{x, 3, 5}, list{x, 3}, list{x}),
+			samples.State(list{9, x, 5, 4}, list{9, x, 5}, list{9, x}, nil),
+			samples.State(list{9, 3, x, 4}, list{9, 3, x}, list{x, x}, nil),
+			samples.State(list{9, 3, 5, x}, list{x, 3, x}, list{x, x, x, x}, list{}),
 		}
 		if fault := layer().Calls(all, samples.Ops(x, 255-x)); fault != "" {
 			t.Error("P5.1: " + fault)
@@ -201,7 +183,7 @@ func TestEveryNumberAndArgument(t *testing.T) {
 }
 
 func TestEmptyRowsThatAreNotNil(t *testing.T) {
-	if fault := layer().Calls([]api.State{stateOf(list{}, list{}, list{}, list{})}, samples.Ops(0, 3, 255)); fault != "" {
+	if fault := layer().Calls([]api.State{samples.State(list{}, list{}, list{}, list{})}, samples.Ops(0, 3, 255)); fault != "" {
 		t.Error("P5.1: " + fault)
 	}
 }
@@ -281,8 +263,8 @@ func TestOperationsThatMayNotBe(t *testing.T) {
 
 func TestNothingIsChangedKeptOrShared(t *testing.T) {
 	full := list{9, 3, 5, 4}
-	all := append(mixed(), stateOf(full, full, full, full), stateOf(full, nil, full, nil),
-		stateOf(list{7}, list{7}, list{7, 7, 7}, list{7, 7, 7}), stateOf(list{1, 2}, list{1, 2}, list{2}, nil))
+	all := append(mixed(), samples.State(full, full, full, full), samples.State(full, nil, full, nil),
+		samples.State(list{7}, list{7}, list{7, 7, 7}, list{7, 7, 7}), samples.State(list{1, 2}, list{1, 2}, list{2}, nil))
 	if fault := layer().Sharing(all, samples.Ops(0, 7, 255)); fault != "" {
 		t.Error("R4: " + fault)
 	}

@@ -41,6 +41,24 @@ func WrongOps() []api.Op {
 	return ops
 }
 
+// State: these rows, from the first one on.
+func State(rows ...[]int) api.State {
+	var s api.State
+	copy(s.Rows[:], rows)
+	return s
+}
+
+// Rows: every row of at most four numbers out of these.
+func Rows(numbers ...int) [][]int {
+	all := [][]int{nil}
+	for from := 0; from < len(all) && len(all[from]) < 4; from++ {
+		for _, x := range numbers {
+			all = append(all, slices.Concat(all[from], []int{x}))
+		}
+	}
+	return all
+}
+
 // Same: are the states' numbers the same ones? (An empty row and nil are one.)
 func Same(s, t api.State) bool {
 	for i := range s.Rows {

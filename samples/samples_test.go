@@ -1,6 +1,7 @@
 package samples
 
 import (
+	"slices"
 	"testing"
 
 	"chorus/api"
@@ -92,5 +93,33 @@ func TestTogetherTellsFaults(t *testing.T) {
 	}
 	if faults := Together(func() string { return "a fault" }); len(faults) != 8 {
 		t.Errorf("%v", faults)
+	}
+}
+
+func TestStateIsTheseRows(t *testing.T) {
+	if s := State(); !IsZero(s) {
+		t.Errorf("%v", s)
+	}
+	if s := State([]int{9}, nil, []int{3, 4}); !Same(s, api.State{Rows: [4][]int{0: {9}, 2: {3, 4}}}) {
+		t.Errorf("%v", s)
+	}
+}
+
+func TestRowsAreEveryOne(t *testing.T) {
+	if all := Rows(); len(all) != 1 || len(all[0]) != 0 {
+		t.Errorf("%v", all)
+	}
+	all := Rows(7, 8, 9)
+	if len(all) != 1+3+9+27+81 {
+		t.Errorf("%d rows", len(all))
+	}
+	slices.SortFunc(all, slices.Compare)
+	if different := slices.CompactFunc(all, slices.Equal); len(different) != 1+3+9+27+81 {
+		t.Errorf("%d that are different", len(different))
+	}
+	for _, row := range all {
+		if len(row) > 4 || slices.ContainsFunc(row, func(x int) bool { return x < 7 || x > 9 }) {
+			t.Errorf("%v", row)
+		}
 	}
 }

@@ -1,4 +1,4 @@
-// Package samples: what the tests of the objects' layers share. No layer calls it.
+// Package samples: what the tests of layers share. No layer calls it.
 package samples
 
 import (

@@ -1,4 +1,4 @@
-// Package states: what the layers of the objects share, of a state's rows.
+// Package states: what layers share, of a state's rows.
 package states
 
 import (

@@ -2,6 +2,8 @@
 package states
 
 import (
+	"slices"
+
 	"chorus/api"
 )
 
@@ -22,6 +24,11 @@ func Count(s api.State) int {
 		total += len(row)
 	}
 	return total
+}
+
+// Same: are the numbers of each row the same ones? (An empty row and nil are one.)
+func Same(s, t api.State) bool {
+	return slices.EqualFunc(s.Rows[:], t.Rows[:], slices.Equal[[]int])
 }
 
 // Turn: the row that an operation makes of one that it may write to; its answer.

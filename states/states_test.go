@@ -41,6 +41,26 @@ func TestCount(t *testing.T) {
 	}
 }
 
+func TestSameHoldsEachRow(t *testing.T) {
+	for i, s := range some() {
+		for j, other := range some() {
+			// The first two are no numbers, told in two ways.
+			if want := i == j || i+j == 1; Same(s, other) != want {
+				t.Errorf("%v and %v: want %v", s, other, want)
+			}
+		}
+		for at := range 4 {
+			for _, row := range [][]int{{9}, {2, 3, 9}, {2, 9}, {9, 1, 2, 3}, {0, 1, 2, 9}} {
+				other := s
+				other.Rows[at] = row
+				if Same(s, other) || Same(other, s) {
+					t.Errorf("%v and %v are not the same", s, other)
+				}
+			}
+		}
+	}
+}
+
 func TestCountedAsksTheTurnOfTheCode(t *testing.T) {
 	first := func(row []int, arg int) ([]int, int) { return append(row, arg), 10 + len(row) }
 	second := func(row []int, arg int) ([]int, int) { return nil, 20 + arg }

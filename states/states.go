@@ -5,16 +5,12 @@ import (
 	"slices"
 
 	"chorus/api"
+	"chorus/lists"
 )
 
 // May: may each of its rows be?
 func May(s api.State, mayRow func(row []int) bool) bool {
-	for _, row := range s.Rows {
-		if !mayRow(row) {
-			return false
-		}
-	}
-	return true
+	return lists.All(s.Rows[:], mayRow)
 }
 
 // Count: how many numbers are in all of its rows.
@@ -56,8 +52,7 @@ func Counted(s api.State, o api.Op, first, second Turn) (api.State, int) {
 func Copy(s api.State) api.State {
 	var t api.State
 	for i, row := range s.Rows {
-		// Appended to nil, so that an empty row does not keep the one that was given.
-		t.Rows[i] = append([]int(nil), row...)
+		t.Rows[i] = lists.Copy(row)
 	}
 	return t
 }

@@ -10,21 +10,6 @@ import (
 	"chorus/samples"
 )
 
-// everyNumber: how many slots there may be, written out.
-func everyNumber() []int {
-	return []int{2, 4, 8, 16}
-}
-
-// wrongNumbers: how many there may not be; some of them may be if bits or the sign were lost.
-func wrongNumbers() []int {
-	return []int{math.MinInt, -1 << 32, -256, -16, -8, -4, -2, -1, 0, 1, 3, 5, 6, 7, 9, 10, 12, 14, 15, 17, 18, 24, 31, 32, 33, 64, 256, 258, 1 << 16, 1<<32 + 2, 1<<32 + 16, 1 << 62, math.MaxInt}
-}
-
-// far: numbers that are far outside of what any place, count or thread may be; some of them may be if bits or the sign were lost.
-func far() []int {
-	return []int{math.MinInt, math.MinInt + 1, -1 << 32, -api.MaxCell, -256, -17, -2, api.MaxCell + 1, api.MaxCell + 2, 2 * api.MaxCell, 1 << 32, 1<<32 + 1, 1<<32 + 2, 1<<32 + 5, 1 << 62, math.MaxInt - 1, math.MaxInt}
-}
-
 // text: a ring, as text.
 func text(r api.Ring) string {
 	told := "{" + numbers(r.Head, r.Tail, r.Fence) + ":"
@@ -51,39 +36,9 @@ func numbers(xs ...int) string {
 	return told
 }
 
-// same: is it the same ring?
-func same(r, x api.Ring) bool {
-	return r.Head == x.Head && r.Tail == x.Tail && r.Fence == x.Fence && slices.Equal(r.Slots, x.Slots)
-}
-
 // isZero: is it the ring's zero value?
 func isZero(r api.Ring) bool {
 	return r.Head == 0 && r.Tail == 0 && r.Fence == 0 && r.Slots == nil
-}
-
-// copied: the same ring, in memory that no call under test has made.
-func copied(r api.Ring) api.Ring {
-	r.Slots = slices.Clone(r.Slots)
-	return r
-}
-
-// with: r, but for what turn does to it.
-func with(r api.Ring, turn func(x *api.Ring)) api.Ring {
-	x := copied(r)
-	turn(&x)
-	return x
-}
-
-// written: a ring of n slots, each of them different, with these places; the bits are those of the laps in which the slots were written to last.
-func written(n, head, tail int) api.Ring {
-	r := api.Ring{Head: head, Tail: tail, Slots: make([]api.Slot, n)}
-	for i := range r.Slots {
-		r.Slots[i] = api.Slot{Op: api.Op{Code: i % 2, Row: i % 4, Arg: 100 + i}, Thread: (i + 1) % 4}
-	}
-	for at := max(0, tail-n); at < tail; at++ {
-		r.Slots[at%n].Bit = 1 - at/n%2
-	}
-	return r
 }
 
 // refusal: "", if each call of r answers the error alone, and leaves r as it was; else what it does.
@@ -102,28 +57,28 @@ func refusal(r api.Ring, count, at int, o api.Op, thread, head int) string {
 
 // reserveRefusal: "", if Reserve answers the error alone; else what it does.
 func reserveRefusal(r api.Ring, count int, err api.Errno) string {
-	old := copied(r)
+	old := samples.CopiedRing(r)
 	x, where, e := Reserve(r, count)
 	return refused("Reserve "+numbers(count), old, r, isZero(x) && where == 0, e, err)
 }
 
 // publishRefusal: "", if Publish answers ErrRingForm alone; else what it does.
 func publishRefusal(r api.Ring, at int, o api.Op, thread int) string {
-	old := copied(r)
+	old := samples.CopiedRing(r)
 	x, e := Publish(r, at, o, thread)
 	return refused("Publish "+numbers(at, o.Code, o.Row, o.Arg, thread), old, r, isZero(x), e, api.ErrRingForm)
 }
 
 // entryRefusal: "", if Entry answers the error alone; else what it does.
 func entryRefusal(r api.Ring, at int, err api.Errno) string {
-	old := copied(r)
+	old := samples.CopiedRing(r)
 	s, e := Entry(r, at)
 	return refused("Entry "+numbers(at), old, r, s == api.Slot{}, e, err)
 }
 
 // freeRefusal: "", if Free answers ErrRingForm alone; else what it does.
 func freeRefusal(r api.Ring, head int) string {
-	old := copied(r)
+	old := samples.CopiedRing(r)
 	x, e := Free(r, head)
 	return refused("Free "+numbers(head), old, r, isZero(x), e, api.ErrRingForm)
 }
@@ -135,7 +90,7 @@ func refused(call string, old, r api.Ring, alone bool, e, want api.Errno) string
 		return text(old) + ": " + call + ": error " + strconv.Itoa(int(e)) + "; want " + strconv.Itoa(int(want))
 	case !alone:
 		return text(old) + ": " + call + ": something beside the error"
-	case !same(old, r):
+	case !samples.SameRing(old, r):
 		return text(old) + ": " + call + ": the ring that was given is changed"
 	}
 	return ""
@@ -143,25 +98,25 @@ func refused(call string, old, r api.Ring, alone bool, e, want api.Errno) string
 
 // reserveFault: "", if Reserve answers r with Tail moved on alone, and where it was; else what it does.
 func reserveFault(r api.Ring, count int) string {
-	old := copied(r)
+	old := samples.CopiedRing(r)
 	x, where, e := Reserve(r, count)
-	want := with(old, func(x *api.Ring) { x.Tail += count })
+	want := samples.RingWith(old, func(x *api.Ring) { x.Tail += count })
 	return done("Reserve "+numbers(count)+" at "+numbers(where), old, r, x, want, where == old.Tail, e)
 }
 
 // publishFault: "", if Publish answers r with that slot turned alone; else what it does.
 func publishFault(r api.Ring, at int, o api.Op, thread, bit int) string {
-	old := copied(r)
+	old := samples.CopiedRing(r)
 	x, e := Publish(r, at, o, thread)
-	want := with(old, func(x *api.Ring) { x.Slots[at%len(x.Slots)] = api.Slot{Op: o, Thread: thread, Bit: bit} })
+	want := samples.RingWith(old, func(x *api.Ring) { x.Slots[at%len(x.Slots)] = api.Slot{Op: o, Thread: thread, Bit: bit} })
 	return done("Publish "+numbers(at, o.Code, o.Row, o.Arg, thread), old, r, x, want, true, e)
 }
 
 // freeFault: "", if Free answers r with Head moved alone; else what it does.
 func freeFault(r api.Ring, head int) string {
-	old := copied(r)
+	old := samples.CopiedRing(r)
 	x, e := Free(r, head)
-	want := with(old, func(x *api.Ring) { x.Head = head })
+	want := samples.RingWith(old, func(x *api.Ring) { x.Head = head })
 	return done("Free "+numbers(head), old, r, x, want, true, e)
 }
 
@@ -170,9 +125,9 @@ func done(call string, old, r, x, want api.Ring, beside bool, e api.Errno) strin
 	switch {
 	case e != api.OK:
 		return text(old) + ": " + call + ": error " + strconv.Itoa(int(e))
-	case !same(x, want) || !beside:
+	case !samples.SameRing(x, want) || !beside:
 		return text(old) + ": " + call + ": " + text(x) + "; want " + text(want)
-	case !same(old, r):
+	case !samples.SameRing(old, r):
 		return text(old) + ": " + call + ": the ring that was given is changed"
 	case !May(x):
 		return text(old) + ": " + call + ": " + text(x) + " may not be"
@@ -182,9 +137,9 @@ func done(call string, old, r, x, want api.Ring, beside bool, e api.Errno) strin
 
 // entryFault: "", if Entry answers that slot; else what it does.
 func entryFault(r api.Ring, at int, want api.Slot) string {
-	old := copied(r)
+	old := samples.CopiedRing(r)
 	s, e := Entry(r, at)
-	if e != api.OK || s != want || !same(old, r) {
+	if e != api.OK || s != want || !samples.SameRing(old, r) {
 		return text(old) + ": Entry " + numbers(at) + ": " + slotText(s) + ", " + strconv.Itoa(int(e)) + "; want " + slotText(want)
 	}
 	return ""
@@ -199,9 +154,9 @@ func tell(t *testing.T, promise, fault string) {
 }
 
 func TestNewRingsAreAllZero(t *testing.T) {
-	for _, n := range everyNumber() {
+	for _, n := range samples.SlotCounts() {
 		r, e := New(n)
-		if e != api.OK || !same(r, api.Ring{Slots: make([]api.Slot, n)}) {
+		if e != api.OK || !samples.SameRing(r, api.Ring{Slots: make([]api.Slot, n)}) {
 			t.Errorf("P10.1: %d: %s, %d", n, text(r), e)
 		}
 		if !May(r) {
@@ -211,7 +166,7 @@ func TestNewRingsAreAllZero(t *testing.T) {
 }
 
 func TestNumbersOfSlotsThatMayNotBe(t *testing.T) {
-	for _, n := range wrongNumbers() {
+	for _, n := range samples.WrongSlotCounts() {
 		if r, e := New(n); e != api.ErrRingForm || !isZero(r) {
 			t.Errorf("P10.1: %d: %s, %d", n, text(r), e)
 		}
@@ -231,11 +186,11 @@ func TestNumbersOfSlotsThatMayNotBe(t *testing.T) {
 }
 
 func TestRingsThatMayBe(t *testing.T) {
-	for _, n := range everyNumber() {
+	for _, n := range samples.SlotCounts() {
 		for _, head := range []int{0, 1, n - 1, n, n + 1, 77, api.MaxCell - n, api.MaxCell - 1, api.MaxCell} {
 			for tail := head; tail <= min(head+n, api.MaxCell); tail++ {
 				for fence := range api.MaxThreads + 1 {
-					r := written(n, head, tail)
+					r := samples.Ring(n, head, tail)
 					r.Fence = fence
 					if !May(r) {
 						t.Errorf("P10.1: %s: it may not be", text(r))
@@ -247,11 +202,11 @@ func TestRingsThatMayBe(t *testing.T) {
 }
 
 func TestSlotsThatMayBe(t *testing.T) {
-	for _, o := range updates() {
+	for _, o := range samples.Updates() {
 		for thread := range 4 {
 			for bit := range 2 {
 				for i := range 4 {
-					r := with(written(4, 3, 6), func(x *api.Ring) { x.Slots[i] = api.Slot{Op: o, Thread: thread, Bit: bit} })
+					r := samples.RingWith(samples.Ring(4, 3, 6), func(x *api.Ring) { x.Slots[i] = api.Slot{Op: o, Thread: thread, Bit: bit} })
 					if !May(r) {
 						t.Errorf("P10.1: %s: it may not be", text(r))
 					}
@@ -261,58 +216,10 @@ func TestSlotsThatMayBe(t *testing.T) {
 	}
 }
 
-// updates: operations that update, each row and the edges of the argument among them.
-func updates() []api.Op {
-	return slices.DeleteFunc(samples.Ops(0, 1, 254, 255), func(o api.Op) bool { return o.Code > 1 })
-}
-
-// noUpdates: operations that do not, those that may not be among them.
-func noUpdates() []api.Op {
-	return append(samples.WrongOps(), api.Op{Code: 2}, api.Op{Code: 2, Row: 3}, api.Op{Code: 3})
-}
-
-// wrongPlaces: r with a Head or a Tail that may not be.
-func wrongPlaces(r api.Ring) []api.Ring {
-	n, head, tail := len(r.Slots), r.Head, r.Tail
-	pairs := [][2]int{
-		{-1, -1}, {-1, 0}, {-1, n - 1}, {-n, 0}, {tail + 1, tail}, {1, 0}, {0, n + 1}, {head, head + n + 1}, {head, head - 1}, {0, 2 * n},
-		{api.MaxCell - n + 1, api.MaxCell + 1}, {api.MaxCell, api.MaxCell + 1}, {api.MaxCell + 1, api.MaxCell + 1}, {api.MaxCell + 1, api.MaxCell},
-		{math.MinInt, math.MinInt}, {math.MinInt, math.MaxInt}, {math.MaxInt, math.MinInt}, {math.MaxInt, math.MaxInt}, {math.MinInt, 1 << 62}, {math.MaxInt - 1, math.MaxInt}, {0, math.MinInt},
-	}
-	for _, x := range far() {
-		pairs = append(pairs, [2]int{x, tail}, [2]int{head, x}, [2]int{x, x})
-	}
-	var all []api.Ring
-	for _, pair := range pairs {
-		all = append(all, with(r, func(x *api.Ring) { x.Head, x.Tail = pair[0], pair[1] }))
-	}
-	return all
-}
-
-// wrongParts: r with a fence that may not be, and with one slot of which one thing may not be.
-func wrongParts(r api.Ring) []api.Ring {
-	var all []api.Ring
-	for _, fence := range append(far(), -1, 5, 6, 255, 256, 257) {
-		all = append(all, with(r, func(x *api.Ring) { x.Fence = fence }))
-	}
-	for i := range r.Slots {
-		for _, thread := range append(far(), -1, 4, 5, 255, 256, 257) {
-			all = append(all, with(r, func(x *api.Ring) { x.Slots[i].Thread = thread }))
-		}
-		for _, bit := range append(far(), -1, 2, 3, 255, 256, 257) {
-			all = append(all, with(r, func(x *api.Ring) { x.Slots[i].Bit = bit }))
-		}
-		for _, o := range noUpdates() {
-			all = append(all, with(r, func(x *api.Ring) { x.Slots[i].Op = o }))
-		}
-	}
-	return all
-}
-
 func TestRingsThatMayNotBe(t *testing.T) {
-	for _, n := range everyNumber() {
-		fair := written(n, n+1, n+2)
-		for _, r := range append(wrongPlaces(fair), wrongParts(fair)...) {
+	for _, n := range samples.SlotCounts() {
+		fair := samples.Ring(n, n+1, n+2)
+		for _, r := range samples.WrongRings(fair) {
 			if May(r) {
 				t.Errorf("P10.1: %s: it may be", text(r))
 			}
@@ -340,7 +247,7 @@ func TestReserveWrittenOut(t *testing.T) {
 		{4, 1048572, 1048573, 3, 0}, {4, 1048573, 1048573, 3, 0}, {4, 1048573, 1048573, 4, 1001}, {4, 1048575, 1048575, 2, 1001},
 		{16, 1048560, 1048560, 16, 0}, {16, 1048561, 1048561, 16, 1001}, {16, 1048561, 1048561, 15, 0}, {16, 1048570, 1048575, 1, 0}, {16, 1048570, 1048575, 2, 1001}, {16, 1048576, 1048576, 16, 1001},
 	} {
-		r := written(x.n, x.head, x.tail)
+		r := samples.Ring(x.n, x.head, x.tail)
 		if x.want == api.OK {
 			tell(t, "P10.2", reserveFault(r, x.count))
 		} else {
@@ -350,11 +257,11 @@ func TestReserveWrittenOut(t *testing.T) {
 }
 
 func TestReserveOfEveryRoom(t *testing.T) {
-	for _, n := range everyNumber() {
+	for _, n := range samples.SlotCounts() {
 		for _, head := range []int{0, 1, n - 1, n, 3*n + 1} {
 			for in := range n + 1 {
 				for count := 1; count <= n; count++ {
-					r := written(n, head, head+in)
+					r := samples.Ring(n, head, head+in)
 					if in+count <= n {
 						tell(t, "P10.2", reserveFault(r, count))
 					} else {
@@ -367,11 +274,11 @@ func TestReserveOfEveryRoom(t *testing.T) {
 }
 
 func TestCountsThatMayNotBe(t *testing.T) {
-	for _, n := range everyNumber() {
-		for _, count := range append(far(), 0, -1, n+1, n+2, 2*n, 256+1, math.MaxInt-api.MaxCell) {
+	for _, n := range samples.SlotCounts() {
+		for _, count := range append(samples.Far(), 0, -1, n+1, n+2, 2*n, 256+1, math.MaxInt-api.MaxCell) {
 			for fence := range 5 {
 				for _, tail := range []int{5, 6, 5 + n} {
-					r := written(n, 5, tail)
+					r := samples.Ring(n, 5, tail)
 					r.Fence = fence
 					tell(t, "P10.2", reserveRefusal(r, count, api.ErrRingForm))
 				}
@@ -381,9 +288,9 @@ func TestCountsThatMayNotBe(t *testing.T) {
 }
 
 func TestAFenceLetsNobodyReserve(t *testing.T) {
-	for _, n := range everyNumber() {
+	for _, n := range samples.SlotCounts() {
 		for fence := 1; fence <= 4; fence++ {
-			r := written(n, n, n+1)
+			r := samples.Ring(n, n, n+1)
 			r.Fence = fence
 			for count := 1; count <= n; count++ {
 				tell(t, "P10.2", reserveRefusal(r, count, api.ErrRingFull))
@@ -404,12 +311,12 @@ func TestPublishWritesThatSlotAlone(t *testing.T) {
 		{16, 0, 16, 15, 15, 1}, {16, 16, 32, 16, 0, 0}, {16, 16, 32, 31, 15, 0}, {16, 20, 36, 35, 3, 1},
 		{2, 1048574, 1048576, 1048575, 1, 0}, {16, 1048560, 1048576, 1048560, 0, 0}, {16, 1048560, 1048576, 1048575, 15, 0},
 	} {
-		for _, o := range updates() {
+		for _, o := range samples.Updates() {
 			for thread := range 4 {
-				r := written(x.n, x.head, x.tail)
+				r := samples.Ring(x.n, x.head, x.tail)
 				got, e := Publish(r, x.at, o, thread)
-				want := with(r, func(r *api.Ring) { r.Slots[x.slot] = api.Slot{Op: o, Thread: thread, Bit: x.bit} })
-				if e != api.OK || !same(got, want) {
+				want := samples.RingWith(r, func(r *api.Ring) { r.Slots[x.slot] = api.Slot{Op: o, Thread: thread, Bit: x.bit} })
+				if e != api.OK || !samples.SameRing(got, want) {
 					t.Errorf("P10.2: %s: %d, %v, %d: %s, %d; want %s", text(r), x.at, o, thread, text(got), e, text(want))
 				}
 				tell(t, "P10.3", entryFault(got, x.at, want.Slots[x.slot]))
@@ -420,10 +327,10 @@ func TestPublishWritesThatSlotAlone(t *testing.T) {
 
 func TestPlacesBesideThoseInTheRing(t *testing.T) {
 	o := api.Op{Code: 1, Row: 1, Arg: 1}
-	for _, n := range everyNumber() {
+	for _, n := range samples.SlotCounts() {
 		for _, head := range []int{0, 1, n - 1, n, 2*n + 1, api.MaxCell - n} {
 			for in := range n + 1 {
-				r := written(n, head, head+in)
+				r := samples.Ring(n, head, head+in)
 				for at := head - 2*n; at <= head+in+2*n; at++ {
 					if at >= head && at < head+in {
 						tell(t, "P10.2", publishFault(r, at, o, 2, 1-at/n%2))
@@ -433,7 +340,7 @@ func TestPlacesBesideThoseInTheRing(t *testing.T) {
 					tell(t, "P10.2", publishRefusal(r, at, o, 2))
 					tell(t, "P10.3", entryRefusal(r, at, api.ErrRingEmpty))
 				}
-				for _, at := range far() {
+				for _, at := range samples.Far() {
 					tell(t, "P10.2", publishRefusal(r, at, o, 2))
 					tell(t, "P10.3", entryRefusal(r, at, api.ErrRingEmpty))
 				}
@@ -443,13 +350,13 @@ func TestPlacesBesideThoseInTheRing(t *testing.T) {
 }
 
 func TestWhatMayNotBePublished(t *testing.T) {
-	for _, n := range everyNumber() {
-		r := written(n, 1, 3)
-		for _, o := range noUpdates() {
+	for _, n := range samples.SlotCounts() {
+		r := samples.Ring(n, 1, 3)
+		for _, o := range samples.NoUpdates() {
 			tell(t, "P10.2", publishRefusal(r, 1, o, 0))
 			tell(t, "P10.2", publishRefusal(r, 2, o, 3))
 		}
-		for _, thread := range append(far(), -1, 4, 5, 255, 256, 257) {
+		for _, thread := range append(samples.Far(), -1, 4, 5, 255, 256, 257) {
 			tell(t, "P10.2", publishRefusal(r, 1, api.Op{}, thread))
 			tell(t, "P10.2", publishRefusal(r, 2, api.Op{Code: 1, Row: 3, Arg: 255}, thread))
 		}
@@ -457,11 +364,11 @@ func TestWhatMayNotBePublished(t *testing.T) {
 }
 
 func TestASlotThatIsNotAliveIsNoEntry(t *testing.T) {
-	for _, n := range everyNumber() {
+	for _, n := range samples.SlotCounts() {
 		for _, head := range []int{0, 1, n, n + 1, 4*n - 1} {
-			full := written(n, head, head+n)
+			full := samples.Ring(n, head, head+n)
 			for at := head; at < head+n; at++ {
-				r := with(full, func(x *api.Ring) { x.Slots[at%n].Bit = 1 - x.Slots[at%n].Bit })
+				r := samples.RingWith(full, func(x *api.Ring) { x.Slots[at%n].Bit = 1 - x.Slots[at%n].Bit })
 				for other := head; other < head+n; other++ {
 					if other == at {
 						tell(t, "P10.3", entryRefusal(r, at, api.ErrRingEmpty))
@@ -475,16 +382,16 @@ func TestASlotThatIsNotAliveIsNoEntry(t *testing.T) {
 }
 
 func TestFreeMovesHeadAlone(t *testing.T) {
-	for _, n := range everyNumber() {
+	for _, n := range samples.SlotCounts() {
 		for _, head := range []int{0, 1, n - 1, n, 3*n + 1, api.MaxCell - n} {
 			for in := range n + 1 {
 				for fence := range 5 {
-					r := written(n, head, head+in)
+					r := samples.Ring(n, head, head+in)
 					r.Fence = fence
 					for to := head; to <= head+in; to++ {
 						tell(t, "P10.3", freeFault(r, to))
 					}
-					for _, to := range append(far(), head-1, head-2, head-n, head+in+1, head+in+2, head+2*n+1) {
+					for _, to := range append(samples.Far(), head-1, head-2, head-n, head+in+1, head+in+2, head+2*n+1) {
 						tell(t, "P10.3", freeRefusal(r, to))
 					}
 				}
@@ -546,7 +453,7 @@ func inRing(t *testing.T, r api.Ring) {
 }
 
 func TestLaps(t *testing.T) {
-	for _, n := range everyNumber() {
+	for _, n := range samples.SlotCounts() {
 		for count := 1; count <= n; count++ {
 			r, _ := New(n)
 			for turn := 0; r.Tail < 5*n; turn++ {
@@ -560,26 +467,6 @@ func TestLaps(t *testing.T) {
 				inRing(t, r)
 			}
 		}
-	}
-}
-
-// marker is what stands in the room behind the slots that a test hands in; a ring may not have it.
-func marker() api.Slot {
-	return api.Slot{Op: api.Op{Code: 77, Row: 77, Arg: 777}, Thread: 77, Bit: 77}
-}
-
-// roomy: the same ring, with room behind its slots; all of that room.
-func roomy(r api.Ring) (api.Ring, []api.Slot) {
-	room := append(slices.Clone(r.Slots), slices.Repeat([]api.Slot{marker()}, 20)...)
-	r.Slots = room[:len(r.Slots)]
-	return r, room
-}
-
-// scribble writes over a ring's slots and over all the room behind them.
-func scribble(r api.Ring) {
-	all := r.Slots[:cap(r.Slots)]
-	for i := range all {
-		all[i] = marker()
 	}
 }
 
@@ -601,23 +488,23 @@ func calls() []func(r api.Ring) api.Ring {
 }
 
 func TestNoMemoryIsShared(t *testing.T) {
-	for _, n := range everyNumber() {
+	for _, n := range samples.SlotCounts() {
 		for i, call := range calls() {
-			plain := written(n, n+1, n+2)
-			want := call(copied(plain))
-			r, room := roomy(plain)
+			plain := samples.Ring(n, n+1, n+2)
+			want := call(samples.CopiedRing(plain))
+			r, room := samples.RoomyRing(plain)
 			old := slices.Clone(room)
 			x := call(r)
 			if !slices.Equal(room, old) {
 				t.Errorf("R4: call %d of %s: what was given is changed, or its spare room", i, text(plain))
 			}
 			again := call(r)
-			scribble(x)
+			samples.ScribbleRing(x)
 			if !slices.Equal(room, old) {
 				t.Errorf("R4: call %d of %s: memory that was given is answered", i, text(plain))
 			}
-			scribble(r)
-			if !same(again, want) {
+			samples.ScribbleRing(r)
+			if !samples.SameRing(again, want) {
 				t.Errorf("R4: call %d of %s: an answer turns with another one, or with what was given", i, text(plain))
 			}
 		}
@@ -625,8 +512,8 @@ func TestNoMemoryIsShared(t *testing.T) {
 }
 
 func TestAnswersHangOnNothingElse(t *testing.T) {
-	r := written(4, 3, 6)
-	full := written(4, 3, 7)
+	r := samples.Ring(4, 3, 6)
+	full := samples.Ring(4, 3, 7)
 	faults := samples.Together(func() string {
 		for range 200 {
 			for _, fault := range []string{

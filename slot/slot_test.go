@@ -10,16 +10,11 @@ import (
 	"chorus/samples"
 )
 
-// everyNumber: how many slots there may be, written out.
-func everyNumber() []int {
-	return []int{2, 4, 8, 16}
-}
-
 // wrongNumbers: how many there may not be; some of them may be if bits or the sign were lost.
 func wrongNumbers() []int {
 	all := []int{math.MinInt, math.MinInt + 2, -1 << 32, -256, -32, -16, -8, -4, -2, -1, 0, 1, 31, 32, 33, 64, 128, 255, 256, 258, 260, 272, 1 << 16, 1 << 20, 1<<32 + 2, 1<<32 + 16, 1 << 62, math.MaxInt}
 	for slots := 3; slots < 32; slots++ {
-		if !slices.Contains(everyNumber(), slots) {
+		if !slices.Contains(samples.SlotCounts(), slots) {
 			all = append(all, slots)
 		}
 	}
@@ -111,7 +106,7 @@ func TestBitsWrittenOut(t *testing.T) {
 }
 
 func TestBitsTurnWithEachLap(t *testing.T) {
-	for _, slots := range everyNumber() {
+	for _, slots := range samples.SlotCounts() {
 		at := 0
 		for lap := range 9 {
 			for range slots {
@@ -126,7 +121,7 @@ func TestBitsTurnWithEachLap(t *testing.T) {
 }
 
 func TestBitsOfEveryPlace(t *testing.T) {
-	for _, slots := range everyNumber() {
+	for _, slots := range samples.SlotCounts() {
 		want, left := 1, slots
 		for at := 0; at <= 1048576; at++ {
 			if left == 0 {
@@ -141,7 +136,7 @@ func TestBitsOfEveryPlace(t *testing.T) {
 }
 
 func TestWhatALapLeftIsNotAliveInTheNextOne(t *testing.T) {
-	for _, slots := range everyNumber() {
+	for _, slots := range samples.SlotCounts() {
 		for at := range 6 * slots {
 			bit, _ := Bit(at, slots)
 			for later, want := range []bool{true, false, true, false} {
@@ -154,7 +149,7 @@ func TestWhatALapLeftIsNotAliveInTheNextOne(t *testing.T) {
 }
 
 func TestASlotThatWasNeverWrittenTo(t *testing.T) {
-	for _, slots := range everyNumber() {
+	for _, slots := range samples.SlotCounts() {
 		for at := range slots {
 			if is, e := Alive(api.Slot{}, at, slots); is || e != api.OK {
 				t.Errorf("P9.1: %d of %d: %t, %d", at, slots, is, e)
@@ -164,7 +159,7 @@ func TestASlotThatWasNeverWrittenTo(t *testing.T) {
 }
 
 func TestABitThatIsNoneIsAliveNowhere(t *testing.T) {
-	for _, slots := range everyNumber() {
+	for _, slots := range samples.SlotCounts() {
 		for _, at := range somePlaces() {
 			for _, bit := range wrongBits() {
 				if fault := aliveFault(bit, at, slots, false); fault != "" {
@@ -186,7 +181,7 @@ func TestNumbersOfSlotsThatMayNotBe(t *testing.T) {
 }
 
 func TestPlacesThatMayNotBe(t *testing.T) {
-	for _, slots := range everyNumber() {
+	for _, slots := range samples.SlotCounts() {
 		for _, at := range wrongPlaces() {
 			if fault := refusal(at, slots); fault != "" {
 				t.Errorf("P9.1: %d of %d: %s", at, slots, fault)

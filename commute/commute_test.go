@@ -1,7 +1,6 @@
 package commute
 
 import (
-	"math"
 	"slices"
 	"testing"
 
@@ -263,30 +262,10 @@ func TestScansSeeAllRows(t *testing.T) {
 	}
 }
 
-// numbers: of which the states that are tried are made, at their objects' numbers.
-func numbers() [][]int {
-	return [][]int{api.ObjectStore: {0, 1, 5, 254, 255}, api.ObjectFds: {0, 1, 2, 3}, api.ObjectQueue: {0, 7, 255}}
-}
-
-// fair: states that may be of this object: empty and full rows, beside like and unlike ones.
-func fair(kind int) []api.State {
-	all := []api.State{{}, samples.State(list{}, list{}, list{}, list{})}
-	for _, row := range samples.Rows(numbers()[kind]...) {
-		all = append(all, samples.State(row, list{1}, nil, list{3}), samples.State(row, row, row, row))
-	}
-	return slices.DeleteFunc(all, func(s api.State) bool { return !object.May(kind, s) })
-}
-
-// few: states of this object at the edges.
-func few(kind int) []api.State {
-	full := [][]int{api.ObjectStore: {255}, api.ObjectFds: {0, 1, 2, 3}, api.ObjectQueue: {255, 0, 255, 9}}[kind]
-	return []api.State{{}, samples.State(list{0}, nil, list{1}, list{3}), samples.State(full, full, full, full), samples.State(list{}, full, list{2}, full)}
-}
-
 func TestEachTwoOperations(t *testing.T) {
 	ops := samples.Ops(0, 2, 255)
 	for kind := range 3 {
-		all := fair(kind)
+		all := samples.FairStates(kind)
 		if len(all) < 12 {
 			t.Errorf("object %d: %d states", kind, len(all))
 		}
@@ -302,7 +281,7 @@ func TestEachTwoOperationsTheOtherFirst(t *testing.T) {
 	ops := samples.Ops(0, 1, 2, 3, 4, 255)
 	for kind := range 3 {
 		for _, other := range ops {
-			if fault := layers(kind, other)[1].Calls(few(kind), ops); fault != "" {
+			if fault := layers(kind, other)[1].Calls(samples.FewStates(kind), ops); fault != "" {
 				t.Errorf("P8.1: object %d, beside %v: %s", kind, other, fault)
 			}
 		}
@@ -312,7 +291,7 @@ func TestEachTwoOperationsTheOtherFirst(t *testing.T) {
 func TestUnlikeRowsCommute(t *testing.T) {
 	ops := slices.DeleteFunc(samples.Ops(0, 3, 255), func(o api.Op) bool { return o.Code == api.CodeScan })
 	for kind := range 3 {
-		for _, s := range fair(kind) {
+		for _, s := range samples.FairStates(kind) {
 			for _, a := range ops {
 				for _, b := range ops {
 					if a.Row == b.Row {
@@ -332,7 +311,7 @@ func TestEveryArgument(t *testing.T) {
 		ops := samples.Ops(arg)
 		for kind := range 3 {
 			for _, other := range []api.Op{first(arg), first(255 - arg), second(arg), look(), scan()} {
-				if fault := layers(kind, other)[0].Calls(few(kind), ops); fault != "" {
+				if fault := layers(kind, other)[0].Calls(samples.FewStates(kind), ops); fault != "" {
 					t.Errorf("P8.1: object %d, beside %v: %s", kind, other, fault)
 				}
 			}
@@ -367,7 +346,7 @@ func TestAnOperationBesideItself(t *testing.T) {
 		}
 	}
 	for kind := range 3 {
-		for _, s := range fair(kind) {
+		for _, s := range samples.FairStates(kind) {
 			for _, o := range []api.Op{scan(), look(), at(3, look())} {
 				if got, e := Both(kind, s, o, o); !got || e != api.OK {
 					t.Errorf("P8.1: object %d, %v, %v beside itself: %v, %d", kind, s, o, got, e)
@@ -377,15 +356,10 @@ func TestAnOperationBesideItself(t *testing.T) {
 	}
 }
 
-// noObjects: numbers below the first one and above the last, some of them one of the three if bits were lost.
-func noObjects() []int {
-	return []int{math.MinInt, -1 << 32, -256, -3, -2, -1, 3, 4, 5, 255, 256, 257, 1 << 32, 1<<32 + 1, math.MaxInt}
-}
-
 func TestNumbersThatAreNoObject(t *testing.T) {
 	states := []api.State{{}, samples.State(list{0}, list{1}, list{2}, list{3}), samples.State(list{3, 0}), samples.State(list{-1})}
 	ops := slices.Concat(samples.Ops(0, 255), samples.WrongOps())
-	for _, kind := range noObjects() {
+	for _, kind := range samples.NoObjects() {
 		for _, other := range []api.Op{{}, second(255), look(), scan(), {Code: -1}} {
 			for _, l := range layers(kind, other) {
 				for _, s := range states {
@@ -400,22 +374,12 @@ func TestNumbersThatAreNoObject(t *testing.T) {
 	}
 }
 
-// wrongRows: rows that may not be of an object, at its number.
-func wrongRows() [][][]int {
-	outside := [][]int{{-1}, {256}, {0, -1}, {1, 2, 3, 256}, {0, 1, 2, 3, 4}, {9, 9, 9, 9, 9}, {math.MinInt}, {math.MaxInt}, make([]int, 1<<10)}
-	return [][][]int{
-		api.ObjectStore: slices.Concat(outside, [][]int{{0, 1}, {9, 9}, {0, 1, 2, 3}}),
-		api.ObjectFds:   slices.Concat(outside, [][]int{{4}, {255}, {3, 0}, {0, 0}, {2, 4}}),
-		api.ObjectQueue: outside,
-	}
-}
-
 func TestStatesThatMayNotBe(t *testing.T) {
-	for kind, wrong := range wrongRows() {
+	for kind := range 3 {
 		// A state is refused also where neither operation is of the wrong row, and where neither turns anything.
 		for _, other := range []api.Op{first(0), at(3, second(3)), look(), scan(), {Code: 4}} {
 			for _, l := range layers(kind, other) {
-				if fault := l.WrongStates(few(kind), wrong); fault != "" {
+				if fault := l.WrongStates(samples.FewStates(kind), samples.WrongRows(kind)); fault != "" {
 					t.Errorf("P8.1: object %d, beside %v: %s", kind, other, fault)
 				}
 			}
@@ -428,7 +392,7 @@ func TestOperationsThatMayNotBe(t *testing.T) {
 	for kind := range 3 {
 		for _, other := range slices.Concat(samples.Ops(0, 255), samples.WrongOps()) {
 			for _, l := range layers(kind, other) {
-				if fault := l.WrongOps(few(kind)); fault != "" {
+				if fault := l.WrongOps(samples.FewStates(kind)); fault != "" {
 					t.Errorf("P8.1: object %d, beside %v: %s", kind, other, fault)
 				}
 			}
@@ -438,7 +402,7 @@ func TestOperationsThatMayNotBe(t *testing.T) {
 
 func TestNothingIsChangedOrKept(t *testing.T) {
 	for kind := -1; kind <= 3; kind++ {
-		for _, s := range few(min(max(kind, 0), 2)) {
+		for _, s := range samples.FewStates(min(max(kind, 0), 2)) {
 			for _, other := range append(samples.Ops(0, 3), api.Op{Code: -1}) {
 				for _, l := range layers(kind, other) {
 					if fault := l.Sharing([]api.State{s}, samples.Ops(0, 255)); fault != "" {
@@ -452,7 +416,7 @@ func TestNothingIsChangedOrKept(t *testing.T) {
 
 func TestAnswersHangOnNothingElse(t *testing.T) {
 	for kind := range 3 {
-		for _, s := range few(kind) {
+		for _, s := range samples.FewStates(kind) {
 			for _, l := range layers(kind, first(2)) {
 				if fault := l.Together(s, samples.Ops(0, 3)); fault != "" {
 					t.Errorf("R5: object %d: %s", kind, fault)

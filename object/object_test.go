@@ -26,20 +26,10 @@ type kind struct {
 // kinds: the three of them, by the document's numbers.
 func kinds() []kind {
 	return []kind{
-		{0, store.Apply, []api.State{{}, samples.State(list{9}, nil, list{0}, list{255})}, slices.Concat(outside(), [][]int{{0, 1}, {9, 9}, {0, 1, 2, 3}})},
-		{1, fds.Apply, []api.State{{}, samples.State(list{0, 1, 2, 3}, nil, list{1, 3}, list{2})}, slices.Concat(outside(), [][]int{{4}, {255}, {3, 0}, {0, 0}, {2, 4}})},
-		{2, queue.Apply, []api.State{{}, samples.State(list{9, 0, 255, 9}, nil, list{3, 0}, list{7, 7, 7})}, outside()},
+		{0, store.Apply, []api.State{{}, samples.State(list{9}, nil, list{0}, list{255})}, samples.WrongRows(0)},
+		{1, fds.Apply, []api.State{{}, samples.State(list{0, 1, 2, 3}, nil, list{1, 3}, list{2})}, samples.WrongRows(1)},
+		{2, queue.Apply, []api.State{{}, samples.State(list{9, 0, 255, 9}, nil, list{3, 0}, list{7, 7, 7})}, samples.WrongRows(2)},
 	}
-}
-
-// outside: rows that are of no object.
-func outside() [][]int {
-	return [][]int{{-1}, {256}, {0, -1}, {0, 256}, {1, 2, 3, -1}, {0, 1, 2, 3, 4}, {9, 9, 9, 9, 9}, {math.MinInt}, {math.MaxInt}, make([]int, 1<<10)}
-}
-
-// noObjects: numbers below the first one and above the last, some of them one of the three if bits were lost.
-func noObjects() []int {
-	return []int{math.MinInt, -1 << 32, -256, -3, -2, -1, 3, 4, 5, 255, 256, 257, 1 << 32, 1<<32 + 1, math.MaxInt}
 }
 
 // of: the call of this object.
@@ -264,7 +254,7 @@ func TestMayOfOneAndNotAnother(t *testing.T) {
 func TestNumbersThatAreNoObject(t *testing.T) {
 	all := []api.State{{}, samples.State(list{0}, list{1}, list{2}, list{3}), samples.State(list{9}), samples.State(list{3, 0}), samples.State(list{-1}), samples.State(nil, make([]int, 99))}
 	ops := slices.Concat(samples.Ops(0, 255), samples.WrongOps())
-	for _, object := range noObjects() {
+	for _, object := range samples.NoObjects() {
 		l := samples.Layer{Apply: of(object), Err: api.ErrObjectForm}
 		for _, s := range all {
 			if May(object, s) {

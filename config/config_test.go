@@ -10,54 +10,6 @@ import (
 	"chorus/samples"
 )
 
-// fairRoom: how many threads there may be, with how many slots a log, written out.
-func fairRoom() [][2]int {
-	return [][2]int{
-		{1, 2}, {1, 4}, {1, 8}, {1, 16},
-		{2, 4}, {2, 8}, {2, 16},
-		{3, 8}, {3, 16},
-		{4, 8}, {4, 16},
-	}
-}
-
-// fairConfigs: every Config that may be.
-func fairConfigs() []api.Config {
-	var all []api.Config
-	for _, object := range []int{0, 1, 2} {
-		for _, replicas := range []int{1, 2} {
-			for _, logs := range []int{1, 2} {
-				for _, room := range fairRoom() {
-					all = append(all, api.Config{Object: object, Replicas: replicas, Logs: logs, Threads: room[0], Slots: room[1]})
-				}
-			}
-		}
-	}
-	return all
-}
-
-// around: numbers below 1 and above most; some of them are not if bits or the sign were lost.
-func around(most int) []int {
-	return append(samples.Far(), -most, -1, 0, most+1, most+2, 255, 256, 257, 258, 1<<31, 1<<61, 1<<61+1, -1<<62, -1<<62+1, math.MinInt+2)
-}
-
-// wrongConfigs: Configs that may not be, though c may: in each of them one number is another.
-func wrongConfigs(c api.Config) []api.Config {
-	var all []api.Config
-	with := func(numbers []int, turn func(x *api.Config, n int)) {
-		for _, n := range numbers {
-			x := c
-			turn(&x, n)
-			all = append(all, x)
-		}
-	}
-	with(samples.NoObjects(), func(x *api.Config, n int) { x.Object = n })
-	with(around(2), func(x *api.Config, n int) { x.Replicas = n })
-	with(around(2), func(x *api.Config, n int) { x.Logs = n })
-	with(around(4), func(x *api.Config, n int) { x.Threads = n })
-	with(samples.WrongSlotCounts(), func(x *api.Config, n int) { x.Slots = n })
-	return all
-}
-
 // replicaFault: "", if Replica answers this; else what it answers.
 func replicaFault(c api.Config, thread, want int, err api.Errno) string {
 	if got, e := Replica(c, thread); got != want || e != err {
@@ -143,7 +95,7 @@ func TestReplicasWrittenOut(t *testing.T) {
 }
 
 func TestEveryConfigThatMayBe(t *testing.T) {
-	all := fairConfigs()
+	all := samples.FairConfigs()
 	if len(all) != 132 {
 		t.Fatalf("%d of them", len(all))
 	}
@@ -154,7 +106,7 @@ func TestEveryConfigThatMayBe(t *testing.T) {
 
 func TestNoOtherConfigMayBe(t *testing.T) {
 	fair := map[api.Config]int{}
-	for _, c := range fairConfigs() {
+	for _, c := range samples.FairConfigs() {
 		fair[c]++
 	}
 	for object := -1; object <= 3; object++ {
@@ -174,8 +126,8 @@ func TestNoOtherConfigMayBe(t *testing.T) {
 }
 
 func TestOneNumberThatMayNotBe(t *testing.T) {
-	for _, c := range fairConfigs() {
-		for _, x := range wrongConfigs(c) {
+	for _, c := range samples.FairConfigs() {
+		for _, x := range samples.WrongConfigs(c) {
 			tell(t, x, wrongFault(x))
 		}
 	}
@@ -186,7 +138,7 @@ func TestFewerThanTwoSlotsAThread(t *testing.T) {
 		slots, most int
 	}{{2, 1}, {4, 2}, {8, 4}, {16, 4}} {
 		for threads := 1; threads <= 4; threads++ {
-			for _, c := range fairConfigs() {
+			for _, c := range samples.FairConfigs() {
 				c.Threads, c.Slots = threads, x.slots
 				if threads <= x.most {
 					tell(t, c, fairFault(c))
@@ -200,8 +152,8 @@ func TestFewerThanTwoSlotsAThread(t *testing.T) {
 
 func TestTwoNumbersThatMayNotBe(t *testing.T) {
 	for _, c := range []api.Config{{Replicas: 1, Logs: 1, Threads: 1, Slots: 2}, {Object: 2, Replicas: 2, Logs: 2, Threads: 4, Slots: 16}} {
-		for _, x := range wrongConfigs(c) {
-			for _, y := range wrongConfigs(c) {
+		for _, x := range samples.WrongConfigs(c) {
+			for _, y := range samples.WrongConfigs(c) {
 				for _, both := range []api.Config{
 					{Object: x.Object, Replicas: y.Replicas, Logs: x.Logs, Threads: y.Threads, Slots: x.Slots},
 					{Object: x.Object, Replicas: x.Replicas, Logs: y.Logs, Threads: x.Threads, Slots: y.Slots},
@@ -217,7 +169,7 @@ func TestTwoNumbersThatMayNotBe(t *testing.T) {
 }
 
 func TestThreadsThatAreNone(t *testing.T) {
-	for _, c := range fairConfigs() {
+	for _, c := range samples.FairConfigs() {
 		for _, thread := range append(samples.Far(), -4, -3, -1, c.Threads, c.Threads+1, c.Threads+2, 4, 5, 16, 255, 256, 257) {
 			tell(t, c, replicaFault(c, thread, 0, api.ErrConfigForm))
 		}
@@ -226,7 +178,7 @@ func TestThreadsThatAreNone(t *testing.T) {
 }
 
 func TestEachReplicaHasAThreadIfThereAreEnough(t *testing.T) {
-	for _, c := range fairConfigs() {
+	for _, c := range samples.FairConfigs() {
 		var at []int
 		for thread := range c.Threads {
 			replica, _ := Replica(c, thread)
@@ -242,7 +194,7 @@ func TestEachReplicaHasAThreadIfThereAreEnough(t *testing.T) {
 func TestAnswersHangOnNothingElse(t *testing.T) {
 	faults := samples.Together(func() string {
 		for range 50 {
-			for _, c := range fairConfigs() {
+			for _, c := range samples.FairConfigs() {
 				x := c
 				x.Slots++
 				for _, fault := range []string{fairFault(c), wrongFault(x), replicaFault(c, c.Threads, 0, api.ErrConfigForm)} {

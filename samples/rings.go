@@ -125,8 +125,5 @@ func RoomyRing(r api.Ring) (api.Ring, []api.Slot) {
 
 // ScribbleRing writes over a ring's slots and over all the room behind them.
 func ScribbleRing(r api.Ring) {
-	all := r.Slots[:cap(r.Slots)]
-	for i := range all {
-		all[i] = slotMarker()
-	}
+	fill(r.Slots, slotMarker())
 }

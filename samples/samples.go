@@ -179,11 +179,11 @@ func scribble(s api.State) {
 	}
 }
 
-// fill writes x all over a row and the room behind it.
-func fill(row []int, x int) {
-	row = row[:cap(row)]
-	for i := range row {
-		row[i] = x
+// fill writes x all over a list and the room behind it.
+func fill[T any](list []T, x T) {
+	list = list[:cap(list)]
+	for i := range list {
+		list[i] = x
 	}
 }
 

@@ -16,3 +16,17 @@ func Copy[T any](xs []T) []T {
 	// Appended to nil, so that an empty list does not keep the one that was given.
 	return append([]T(nil), xs...)
 }
+
+// CopyEach: the same ones, each of them copied, in memory of their own.
+func CopyEach[T any](xs []T, copied func(x T) T) []T {
+	ys := Copy(xs)
+	for i, y := range ys {
+		ys[i] = copied(y)
+	}
+	return ys
+}
+
+// Has: is there one of that number?
+func Has[T any](xs []T, at int) bool {
+	return at >= 0 && at < len(xs)
+}

@@ -1,6 +1,7 @@
 package lists
 
 import (
+	"math"
 	"slices"
 	"testing"
 
@@ -39,6 +40,53 @@ func TestCopyIsTheSameInMemoryOfItsOwn(t *testing.T) {
 		}
 		if !slices.Equal(room, old) {
 			t.Errorf("R4: of %v: what was given is changed: %v", given, room)
+		}
+	}
+}
+
+func TestCopyEachCopiesEachOne(t *testing.T) {
+	if c := CopyEach(nil, Copy[int]); c != nil {
+		t.Errorf("of nil: %v", c)
+	}
+	all := [][]int{{1, 2}, {3}, nil, {4, 5, 6}, {9}}
+	for n := range all {
+		given := all[:n]
+		c := CopyEach(given, Copy[int])
+		if !slices.EqualFunc(c, given, slices.Equal[[]int]) {
+			t.Errorf("of %v: %v", given, c)
+		}
+		for i := range c {
+			for j := range c[i] {
+				c[i][j] = 0
+			}
+			c[i] = nil
+		}
+		c = append(c, []int{7})
+		if want := [][]int{{1, 2}, {3}, nil, {4, 5, 6}, {9}}; !slices.EqualFunc(all, want, slices.Equal[[]int]) {
+			t.Fatalf("R4: of %v: what was given is changed: %v", given, all)
+		}
+	}
+}
+
+func TestCopyEachAsksOfEachOne(t *testing.T) {
+	double := func(x int) int { return 2 * x }
+	if c := CopyEach([]int{3, 0, -4}, double); !slices.Equal(c, []int{6, 0, -8}) {
+		t.Errorf("%v", c)
+	}
+}
+
+func TestHasIsFromNoneBelowHowMany(t *testing.T) {
+	for n := range 5 {
+		list := make([]string, n, 8)
+		for at := range n {
+			if !Has(list, at) {
+				t.Errorf("of %d: %d: false", n, at)
+			}
+		}
+		for _, at := range []int{-1, n, n + 1, 7, -n - 1, math.MinInt, math.MaxInt, 1 << 32, -1 << 32} {
+			if Has(list, at) {
+				t.Errorf("of %d: %d: true", n, at)
+			}
 		}
 	}
 }

@@ -26,6 +26,17 @@ func CopyEach[T any](xs []T, copied func(x T) T) []T {
 	return ys
 }
 
+// Which: the numbers of those of which it is so, rising.
+func Which[T any](xs []T, is func(at int, x T) bool) []int {
+	var which []int
+	for at, x := range xs {
+		if is(at, x) {
+			which = append(which, at)
+		}
+	}
+	return which
+}
+
 // Has: is there one of that number?
 func Has[T any](xs []T, at int) bool {
 	return at >= 0 && at < len(xs)

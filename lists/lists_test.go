@@ -75,6 +75,23 @@ func TestCopyEachAsksOfEachOne(t *testing.T) {
 	}
 }
 
+func TestWhichTellsTheNumbers(t *testing.T) {
+	for _, x := range []struct {
+		list []string
+		want []int
+	}{
+		{nil, nil}, {[]string{}, nil}, {[]string{"a"}, []int{0}}, {[]string{"b"}, nil},
+		{[]string{"b", "a", "b", "a"}, []int{1, 3}}, {[]string{"a", "a", "a"}, []int{0, 1, 2}}, {[]string{"b", "a", "a"}[:2], []int{1}},
+	} {
+		if got := Which(x.list, func(at int, y string) bool { return y == "a" && y == x.list[at] }); !slices.Equal(got, x.want) {
+			t.Errorf("%v: %v", x.list, got)
+		}
+	}
+	if got := Which([]int{7, 7, 7, 7}, func(at int, x int) bool { return at%2 == 1 }); !slices.Equal(got, []int{1, 3}) {
+		t.Errorf("by their numbers: %v", got)
+	}
+}
+
 func TestHasIsFromNoneBelowHowMany(t *testing.T) {
 	for n := range 5 {
 		list := make([]string, n, 8)

@@ -1,7 +1,6 @@
 package lock
 
 import (
-	"math"
 	"slices"
 	"strconv"
 	"testing"
@@ -48,14 +47,9 @@ func cross(replicas, logs, threads []int) []place {
 	return all
 }
 
-// below: the numbers from 0 below count.
-func below(count int) []int {
-	return []int{0, 1, 2, 3}[:count]
-}
-
 // places: every place that a machine of c has.
 func places(c api.Config) []place {
-	return cross(below(c.Replicas), below(c.Logs), below(c.Threads))
+	return cross(samples.Below(c.Replicas), samples.Below(c.Logs), samples.Below(c.Threads))
 }
 
 // calls: each of the two calls at each place that a machine of c has.
@@ -67,15 +61,10 @@ func calls(c api.Config) []samples.MachineCall {
 	return all
 }
 
-// around: the numbers from 0 below count, those next to them, the least and the greatest int.
-func around(count int) []int {
-	return append(below(count)[:count:count], -1, count, math.MinInt, math.MaxInt)
-}
-
 // noPlaces: places that no machine of c has: one thing is outside, or several are.
 func noPlaces(c api.Config) []place {
 	fair := places(c)
-	return slices.DeleteFunc(cross(around(c.Replicas), around(c.Logs), around(c.Threads)), func(p place) bool { return slices.Contains(fair, p) })
+	return slices.DeleteFunc(cross(samples.Around(c.Replicas), samples.Around(c.Logs), samples.Around(c.Threads)), func(p place) bool { return slices.Contains(fair, p) })
 }
 
 // tell reports a fault, if there is one, of this call at this place of m.
@@ -160,7 +149,7 @@ func TestALockThatIsHeldIsNotTaken(t *testing.T) {
 func TestFreeWhoeverHoldsIt(t *testing.T) {
 	for _, c := range samples.FairConfigs() {
 		for _, m := range some(c) {
-			for _, p := range cross(below(c.Replicas), below(c.Logs), []int{0}) {
+			for _, p := range cross(samples.Below(c.Replicas), samples.Below(c.Logs), []int{0}) {
 				for holder := 0; holder <= c.Threads; holder++ {
 					held := p.held(m, holder)
 					tell(t, "Free", p, held, p.free().Answer(held, p.held(m, 0), true))
@@ -215,7 +204,7 @@ func refused(t *testing.T, m api.Machine, all []place) {
 	for _, p := range all {
 		tell(t, "Try", p, m, p.try().Refusal(m, api.ErrLockForm))
 		// Free is told of no thread.
-		if !slices.Contains(below(c.Replicas), p.replica) || !slices.Contains(below(c.Logs), p.log) {
+		if !slices.Contains(samples.Below(c.Replicas), p.replica) || !slices.Contains(samples.Below(c.Logs), p.log) {
 			tell(t, "Free", p, m, p.free().Refusal(m, api.ErrLockForm))
 		}
 	}
@@ -231,9 +220,9 @@ func TestNoSuchReplicaLogOrThread(t *testing.T) {
 func TestNumbersFarOutside(t *testing.T) {
 	for _, c := range samples.FewConfigs() {
 		all := slices.Concat(
-			cross(samples.Outside(0, c.Replicas-1), below(c.Logs), below(c.Threads)),
-			cross(below(c.Replicas), samples.Outside(0, c.Logs-1), below(c.Threads)),
-			cross(below(c.Replicas), below(c.Logs), samples.Outside(0, c.Threads-1)),
+			cross(samples.Outside(0, c.Replicas-1), samples.Below(c.Logs), samples.Below(c.Threads)),
+			cross(samples.Below(c.Replicas), samples.Outside(0, c.Logs-1), samples.Below(c.Threads)),
+			cross(samples.Below(c.Replicas), samples.Below(c.Logs), samples.Outside(0, c.Threads-1)),
 		)
 		refused(t, samples.FreshMachine(c), all)
 		refused(t, samples.BusyMachine(c, 9), all)
@@ -260,7 +249,7 @@ func TestWrongTurnsAtEachPlace(t *testing.T) {
 }
 
 func TestNoMachineAtAll(t *testing.T) {
-	all := cross(around(2), around(2), around(4))
+	all := cross(samples.Around(2), samples.Around(2), samples.Around(4))
 	for _, p := range all {
 		for _, m := range []api.Machine{{}, {Config: samples.FewConfigs()[5]}} {
 			tell(t, "Try", p, m, p.try().Refusal(m, api.ErrLockForm))

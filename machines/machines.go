@@ -4,8 +4,19 @@ package machines
 import (
 	"chorus/api"
 	"chorus/lists"
+	"chorus/start"
 	"chorus/states"
 )
+
+// HasThread: may m be, and is there such a thread?
+func HasThread(m api.Machine, thread int) bool {
+	return start.May(m) && lists.Has(m.Threads, thread)
+}
+
+// HasLog: may m be, and is there such a replica, and such a log?
+func HasLog(m api.Machine, replica, log int) bool {
+	return start.May(m) && lists.Has(m.Replicas, replica) && lists.Has(m.Rings, log)
+}
 
 // Copy: the same machine, each of its lists in memory of its own.
 func Copy(m api.Machine) api.Machine {

@@ -35,3 +35,26 @@ func TestCopyOfNoMachine(t *testing.T) {
 		t.Errorf("%+v", m)
 	}
 }
+
+func TestThreadsAndLogsThatThereAre(t *testing.T) {
+	for _, c := range samples.FewConfigs() {
+		for _, m := range []api.Machine{samples.FreshMachine(c), samples.BusyMachine(c, 6)} {
+			wrong := samples.MachineWith(m, func(m *api.Machine) { m.Threads[0].Log = c.Logs })
+			for _, thread := range samples.Around(c.Threads) {
+				if is := HasThread(m, thread); is != (thread >= 0 && thread < c.Threads) || HasThread(wrong, thread) {
+					t.Errorf("thread %d of %+v: %t", thread, c, is)
+				}
+			}
+			for _, p := range samples.Places(c) {
+				if !HasLog(m, p.Replica, p.Log) || HasLog(wrong, p.Replica, p.Log) {
+					t.Errorf("%+v of %+v", p, c)
+				}
+			}
+			for _, p := range samples.NoPlaces(c) {
+				if HasLog(m, p.Replica, p.Log) {
+					t.Errorf("%+v of %+v", p, c)
+				}
+			}
+		}
+	}
+}

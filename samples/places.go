@@ -1,0 +1,50 @@
+package samples
+
+import (
+	"math"
+	"slices"
+
+	"chorus/api"
+)
+
+// Place: a replica and a log of it, as a call is told of them.
+type Place struct {
+	Replica, Log int
+}
+
+// Places: every replica and log that a machine of c has.
+func Places(c api.Config) []Place {
+	return crossed(Below(c.Replicas), Below(c.Logs))
+}
+
+// NoPlaces: places that no machine of c has: the replica is outside, or the log, or both are.
+func NoPlaces(c api.Config) []Place {
+	all := slices.Concat(
+		crossed(Around(c.Replicas), Around(c.Logs)),
+		crossed(Outside(0, c.Replicas-1), Below(c.Logs)),
+		crossed(Below(c.Replicas), Outside(0, c.Logs-1)),
+	)
+	fair := Places(c)
+	return slices.DeleteFunc(all, func(p Place) bool { return slices.Contains(fair, p) })
+}
+
+// crossed: each of these replicas with each of these logs.
+func crossed(replicas, logs []int) []Place {
+	var all []Place
+	for _, replica := range replicas {
+		for _, log := range logs {
+			all = append(all, Place{Replica: replica, Log: log})
+		}
+	}
+	return all
+}
+
+// Below: the numbers from 0 below count, that is 4 at most.
+func Below(count int) []int {
+	return []int{0, 1, 2, 3}[:count]
+}
+
+// Around: the numbers from 0 below count, those next to them, the least and the greatest int.
+func Around(count int) []int {
+	return slices.Concat(Below(count), []int{-1, count, math.MinInt, math.MaxInt})
+}

@@ -48,23 +48,6 @@ func posted(m api.Machine, thread int) api.Machine {
 	return samples.MachineWith(m, func(m *api.Machine) { m.Threads[thread].Posted, m.Threads[thread].Ready = true, false })
 }
 
-// atReplica: the threads of c that are at that replica, written out.
-func atReplica(c api.Config, replica int) []int {
-	all := [][]int{{0, 1, 2, 3}}
-	if c.Replicas == 2 {
-		all = [][]int{{0, 2}, {1, 3}}
-	}
-	return slices.DeleteFunc(all[replica], func(thread int) bool { return thread >= c.Threads })
-}
-
-// who: the threads that wait at that place of m.
-func who(m api.Machine, p samples.Place) []int {
-	return slices.DeleteFunc(atReplica(m.Config, p.Replica), func(thread int) bool {
-		t := m.Threads[thread]
-		return !t.Posted || t.Log != p.Log || t.Op.Code == 2 || t.Op.Code == 3
-	})
-}
-
 // tell reports a fault, if there is one, of this call of m.
 func tell(t *testing.T, call string, m api.Machine, fault string) {
 	t.Helper()
@@ -158,24 +141,9 @@ func TestWaitingOfEachMachineThatMayBe(t *testing.T) {
 	for _, c := range samples.FairConfigs() {
 		for _, m := range append(samples.FairMachines(c), some(c)...) {
 			for _, p := range samples.Places(c) {
-				wait(t, m, p, who(m, p))
+				wait(t, m, p, samples.WhoWaits(m, p))
 			}
 		}
-	}
-}
-
-// each is m with each thread by turns as one of these, all of them crossed.
-func each(m api.Machine, all []api.Thread, do func(m api.Machine)) {
-	total := 1
-	for range m.Threads {
-		total *= len(all)
-	}
-	for turn := range total {
-		for i := range m.Threads {
-			m.Threads[i] = all[turn%len(all)]
-			turn /= len(all)
-		}
-		do(m)
 	}
 }
 
@@ -183,14 +151,14 @@ func TestWaitingOfAllThatThreadsMayBe(t *testing.T) {
 	first, second, look := api.Op{Row: 3, Arg: 7}, api.Op{Code: 1, Row: 2}, api.Op{Code: 2, Row: 1}
 	for _, c := range samples.FairConfigs() {
 		all := []api.Thread{{Op: first, Posted: true}, {Op: second}, {Op: look, Posted: true}, {Op: second, Log: c.Logs - 1, Posted: true, Ready: true, Step: 10}}
-		each(samples.FreshMachine(c), all, func(m api.Machine) {
+		for _, m := range samples.EachAs(samples.FreshMachine(c), all) {
 			for _, p := range samples.Places(c) {
 				got, e := Waiting(m, p.Replica, p.Log)
-				if want := who(m, p); e != api.OK || !slices.Equal(got, want) {
+				if want := samples.WhoWaits(m, p); e != api.OK || !slices.Equal(got, want) {
 					t.Fatalf("P16.1: %s: %v, %d; want %v: of %+v", text(p), got, e, want, m.Threads)
 				}
 			}
-		})
+		}
 	}
 }
 
@@ -204,23 +172,14 @@ func TestNobodyWaits(t *testing.T) {
 					}
 				}), p, nil)
 				for _, o := range []api.Op{{Code: 2}, {Code: 2, Row: 3}, {Code: 3}} {
-					wait(t, allAs(m, api.Thread{Op: o, Log: p.Log, Posted: true}), p, nil)
+					wait(t, samples.AllAs(m, api.Thread{Op: o, Log: p.Log, Posted: true}), p, nil)
 				}
 				if c.Logs == 2 {
-					wait(t, allAs(m, api.Thread{Op: api.Op{Arg: 1}, Log: 1 - p.Log, Posted: true}), p, nil)
+					wait(t, samples.AllAs(m, api.Thread{Op: api.Op{Arg: 1}, Log: 1 - p.Log, Posted: true}), p, nil)
 				}
 			}
 		}
 	}
-}
-
-// allAs: m, with each of its threads as this one.
-func allAs(m api.Machine, x api.Thread) api.Machine {
-	return samples.MachineWith(m, func(m *api.Machine) {
-		for i := range m.Threads {
-			m.Threads[i] = x
-		}
-	})
 }
 
 func TestAllWait(t *testing.T) {
@@ -228,7 +187,7 @@ func TestAllWait(t *testing.T) {
 		for _, m := range some(c) {
 			for _, p := range samples.Places(c) {
 				for _, o := range []api.Op{{}, {Row: 3, Arg: 255}, {Code: 1}, {Code: 1, Row: 3, Arg: 255}} {
-					wait(t, allAs(m, api.Thread{Op: o, Log: p.Log, Posted: true}), p, atReplica(c, p.Replica))
+					wait(t, samples.AllAs(m, api.Thread{Op: o, Log: p.Log, Posted: true}), p, samples.AtReplica(c, p.Replica))
 				}
 			}
 		}
@@ -264,7 +223,7 @@ func TestWaitingHangsOnNothingElseOfTheThread(t *testing.T) {
 
 func TestWaitingHangsOnNoLock(t *testing.T) {
 	c := api.Config{Object: api.ObjectQueue, Replicas: 2, Logs: 2, Threads: 3, Slots: 8}
-	m := allAs(samples.FreshMachine(c), api.Thread{Posted: true})
+	m := samples.AllAs(samples.FreshMachine(c), api.Thread{Posted: true})
 	for holder := range 4 {
 		m.Replicas[0].Locks[0], m.Replicas[1].Locks[0], m.Rings[0].Fence = holder, 3-holder, holder
 		wait(t, m, samples.Place{Replica: 0, Log: 0}, []int{0, 2})
@@ -282,7 +241,7 @@ func TestRowsOfCalls(t *testing.T) {
 			tell(t, "Post of "+strconv.Itoa(thread), m, posting(thread).Answer(m, want, true))
 			m, _ = Post(m, thread)
 			for _, p := range samples.Places(c) {
-				wait(t, m, p, who(want, p))
+				wait(t, m, p, samples.WhoWaits(want, p))
 			}
 			// Another one is served, or called again.
 			served := turn * 5 / 3 % c.Threads
@@ -309,7 +268,7 @@ func TestNoSuchThread(t *testing.T) {
 
 func TestNoSuchReplicaOrLog(t *testing.T) {
 	for _, c := range samples.FairConfigs() {
-		for _, m := range []api.Machine{samples.FreshMachine(c), allAs(samples.BusyMachine(c, 5), api.Thread{Posted: true})} {
+		for _, m := range []api.Machine{samples.FreshMachine(c), samples.AllAs(samples.BusyMachine(c, 5), api.Thread{Posted: true})} {
 			for _, p := range samples.NoPlaces(c) {
 				tell(t, text(p), m, waiting(p).Refusal(m, api.ErrBoardForm))
 			}
@@ -358,7 +317,7 @@ func TestAMachineThatMayNotBeAtNoPlace(t *testing.T) {
 
 func TestMemoryOfItsOwn(t *testing.T) {
 	for _, c := range samples.FewConfigs() {
-		for _, m := range append(samples.FairMachines(c), allAs(samples.FullMachine(c), api.Thread{Posted: true})) {
+		for _, m := range append(samples.FairMachines(c), samples.AllAs(samples.FullMachine(c), api.Thread{Posted: true})) {
 			for i, call := range calls(c) {
 				tell(t, "call "+strconv.Itoa(i), m, call.Sharing(m))
 			}
@@ -369,7 +328,7 @@ func TestMemoryOfItsOwn(t *testing.T) {
 func TestAnswersHangOnNothingElse(t *testing.T) {
 	c := api.Config{Object: api.ObjectQueue, Replicas: 2, Logs: 2, Threads: 4, Slots: 16}
 	p := samples.Place{Replica: 1, Log: 1}
-	before := allAs(samples.BusyMachine(c, 8), api.Thread{Log: 1, Ready: true})
+	before := samples.AllAs(samples.BusyMachine(c, 8), api.Thread{Log: 1, Ready: true})
 	before.Threads[1].Posted = true
 	after := posted(before, 3)
 	old := samples.CopiedMachine(before)

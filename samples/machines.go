@@ -133,3 +133,42 @@ func emptied(m api.Machine) api.Machine {
 		}
 	})
 }
+
+// AllAs: m, with each of its threads as this one.
+func AllAs(m api.Machine, x api.Thread) api.Machine {
+	return MachineWith(m, func(m *api.Machine) {
+		for i := range m.Threads {
+			m.Threads[i] = apartThread(x)
+		}
+	})
+}
+
+// apartThread: the same thread, in memory of its own.
+func apartThread(x api.Thread) api.Thread {
+	x.Batch, x.Tails = slices.Clone(x.Batch), slices.Clone(x.Tails)
+	return x
+}
+
+// EachAs: m with each thread as one of these, all of them crossed.
+func EachAs(m api.Machine, all []api.Thread) []api.Machine {
+	some := []api.Machine{m}
+	for i := range m.Threads {
+		var more []api.Machine
+		for _, one := range some {
+			for _, x := range all {
+				more = append(more, MachineWith(one, func(m *api.Machine) { m.Threads[i] = apartThread(x) }))
+			}
+		}
+		some = more
+	}
+	return some
+}
+
+// AllAtStep: m, with each of its threads at that step.
+func AllAtStep(m api.Machine, step int) api.Machine {
+	return MachineWith(m, func(m *api.Machine) {
+		for i := range m.Threads {
+			m.Threads[i].Step = step
+		}
+	})
+}

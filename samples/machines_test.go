@@ -236,3 +236,44 @@ func TestWrongTurnsTurnSomething(t *testing.T) {
 		}
 	}
 }
+
+func TestAllThreadsAsOne(t *testing.T) {
+	for _, c := range FewConfigs() {
+		m := FullMachine(c)
+		x := api.Thread{Step: 4, Batch: []int{0}, Tails: []int{7}}
+		got := AllAs(m, x)
+		if !ListsApart(got) || !SameMachine(m, FullMachine(c)) || x.Batch[0] != 0 || x.Tails[0] != 7 {
+			t.Errorf("%+v: memory is shared", c)
+		}
+		for i, y := range AllAs(m, x).Threads {
+			if !sameThread(y, x) {
+				t.Errorf("%+v: thread %d: %+v", c, i, y)
+			}
+		}
+		for i, y := range AllAtStep(m, 3).Threads {
+			if y.Step != 3 || y.At != c.Threads || m.Threads[i].Step != 19 {
+				t.Errorf("%+v: thread %d: %+v", c, i, y)
+			}
+		}
+	}
+}
+
+func TestThreadsAsEachCrossed(t *testing.T) {
+	for _, c := range FewConfigs() {
+		m := BusyMachine(c, 4)
+		seen := map[[4]int]bool{}
+		for _, x := range EachAs(m, []api.Thread{{Step: 1}, {Step: 2, Batch: []int{0}}, {Step: 3}}) {
+			var steps [4]int
+			for i, y := range x.Threads {
+				steps[i] = y.Step
+			}
+			seen[steps] = true
+			if len(x.Threads) != c.Threads || !slices.EqualFunc(x.Replicas, m.Replicas, sameReplica) {
+				t.Errorf("%+v: %+v", c, x)
+			}
+		}
+		if want := []int{3, 9, 27, 81}[c.Threads-1]; len(seen) != want || !SameMachine(m, BusyMachine(c, 4)) {
+			t.Errorf("%+v: %d of them, want %d", c, len(seen), want)
+		}
+	}
+}

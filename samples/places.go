@@ -48,3 +48,24 @@ func Below(count int) []int {
 func Around(count int) []int {
 	return slices.Concat(Below(count), []int{-1, count, math.MinInt, math.MaxInt})
 }
+
+// ReplicaOf: which replica that thread of c is at.
+func ReplicaOf(c api.Config, thread int) int {
+	if c.Replicas == 2 {
+		return []int{0, 1, 0, 1}[thread]
+	}
+	return 0
+}
+
+// AtReplica: the threads of c that are at that replica.
+func AtReplica(c api.Config, replica int) []int {
+	return slices.DeleteFunc(Below(c.Threads), func(thread int) bool { return ReplicaOf(c, thread) != replica })
+}
+
+// WhoWaits: the threads that wait at that place of m.
+func WhoWaits(m api.Machine, p Place) []int {
+	return slices.DeleteFunc(AtReplica(m.Config, p.Replica), func(thread int) bool {
+		t := m.Threads[thread]
+		return !t.Posted || t.Log != p.Log || t.Op.Code == 2 || t.Op.Code == 3
+	})
+}

@@ -39,3 +39,45 @@ func TestPlacesAreWithinAndTheOthersOutside(t *testing.T) {
 		}
 	}
 }
+
+func TestThreadsAtEachReplica(t *testing.T) {
+	for _, x := range []struct {
+		replicas, threads int
+		want              [][]int
+	}{
+		{1, 1, [][]int{{0}}}, {1, 3, [][]int{{0, 1, 2}}}, {1, 4, [][]int{{0, 1, 2, 3}}},
+		{2, 1, [][]int{{0}, {}}}, {2, 2, [][]int{{0}, {1}}}, {2, 3, [][]int{{0, 2}, {1}}}, {2, 4, [][]int{{0, 2}, {1, 3}}},
+	} {
+		c := api.Config{Replicas: x.replicas, Threads: x.threads}
+		for replica, want := range x.want {
+			if got := AtReplica(c, replica); !slices.Equal(got, want) {
+				t.Errorf("%+v: at %d: %v", c, replica, got)
+			}
+			for _, thread := range want {
+				if at := ReplicaOf(c, thread); at != replica {
+					t.Errorf("%+v: thread %d is at %d", c, thread, at)
+				}
+			}
+		}
+	}
+}
+
+func TestWhoWaitsIsWrittenOut(t *testing.T) {
+	m := FreshMachine(api.Config{Object: 1, Replicas: 2, Logs: 2, Threads: 4, Slots: 8})
+	m.Threads = []api.Thread{
+		{Op: api.Op{Code: 1}, Log: 1, Posted: true}, {Op: api.Op{Code: 2}, Log: 1, Posted: true},
+		{Log: 1, Posted: true, Step: 10, Ready: true}, {Op: api.Op{Code: 1}, Posted: true},
+	}
+	for turn := range 2 {
+		wants := [][]int{{}, {0, 2}, {3}, {}}
+		if turn == 1 {
+			m.Threads[0].Posted, m.Threads[3].Op.Code, m.Threads[1].Op.Code = false, 3, 0
+			wants = [][]int{{}, {2}, {}, {1}}
+		}
+		for i, p := range Places(m.Config) {
+			if got := WhoWaits(m, p); !slices.Equal(got, wants[i]) {
+				t.Errorf("turn %d: at %+v: %v", turn, p, got)
+			}
+		}
+	}
+}

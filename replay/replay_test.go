@@ -90,39 +90,9 @@ func refuses(t *testing.T, m api.Machine, p place) {
 	}
 }
 
-// laid: m, in which that place's log has the entries from head on below tail, and its replica comes to entry at, all others to the tail; the slots of these numbers are alive, those behind the tail too, and no other ones.
-func laid(m api.Machine, p place, head, at, tail int, alive ...int) api.Machine {
-	c := m.Config
-	return samples.MachineWith(m, func(m *api.Machine) {
-		r := samples.Ring(c.Slots, head, tail)
-		for number := head; number < head+c.Slots; number++ {
-			s := &r.Slots[number%c.Slots]
-			s.Thread %= c.Threads
-			s.Bit = number / c.Slots % 2
-			if slices.Contains(alive, number) {
-				s.Bit = 1 - s.Bit
-			}
-		}
-		m.Rings[p.Log] = r
-		for i := range m.Replicas {
-			m.Replicas[i].Cursors[p.Log] = tail
-		}
-		m.Replicas[p.Replica].Cursors[p.Log] = at
-	})
-}
-
-// between: the numbers from head on below tail.
-func between(head, tail int) []int {
-	var all []int
-	for number := head; number < tail; number++ {
-		all = append(all, number)
-	}
-	return all
-}
-
 // withOne: m, in which the place's replica comes to entry at, that is this operation, this thread's.
 func withOne(m api.Machine, p place, at int, o api.Op, thread int) api.Machine {
-	m = laid(m, p, at, at, at+1, at)
+	m = samples.Laid(m, p, at, at, at+1, at)
 	s := &m.Rings[p.Log].Slots[at%m.Config.Slots]
 	s.Op, s.Thread = o, thread
 	return m
@@ -226,7 +196,7 @@ func TestTillNoneIsLeft(t *testing.T) {
 			for _, p := range samples.Places(c) {
 				head := 7*turn + 3
 				tail := head + c.Slots
-				m := laid(m, p, head, head, tail, between(head, tail)...)
+				m := samples.Laid(m, p, head, head, tail, samples.Between(head, tail)...)
 				for at := head; at < tail; at++ {
 					replays(t, m, p, m.Rings[p.Log].Slots[at%c.Slots])
 					m, _, _ = One(m, p.Replica, p.Log)
@@ -244,10 +214,10 @@ func TestEachPlaceOfARingInSomeLaps(t *testing.T) {
 			// The last two laps end at the greatest place that there is.
 			for _, from := range []int{0, 1048576 - 2*c.Slots} {
 				for at := from; at < from+2*c.Slots; at++ {
-					one := laid(m, p, at, at, at+1, at)
+					one := samples.Laid(m, p, at, at, at+1, at)
 					replays(t, one, p, one.Rings[p.Log].Slots[at%c.Slots])
-					rests(t, laid(m, p, at, at, at+1), p)
-					rests(t, laid(m, p, at, at, at, at), p)
+					rests(t, samples.Laid(m, p, at, at, at+1), p)
+					rests(t, samples.Laid(m, p, at, at, at, at), p)
 				}
 			}
 		}
@@ -258,7 +228,7 @@ func TestNoEntryBehindTheGreatestPlace(t *testing.T) {
 	for _, c := range samples.FairConfigs() {
 		for _, p := range samples.Places(c) {
 			head := 1048576 - c.Slots
-			m := laid(samples.BusyMachine(c, 5), p, head, 1048575, 1048576, between(head, 1048576)...)
+			m := samples.Laid(samples.BusyMachine(c, 5), p, head, 1048575, 1048576, samples.Between(head, 1048576)...)
 			replays(t, m, p, m.Rings[p.Log].Slots[c.Slots-1])
 			m, _, _ = One(m, p.Replica, p.Log)
 			if at := m.Replicas[p.Replica].Cursors[p.Log]; at != 1048576 {
@@ -277,10 +247,10 @@ func TestReservedAndNotPublished(t *testing.T) {
 				tail := head + c.Slots
 				// None is, and then all but the one that the replica comes to.
 				for at := head; at < tail; at++ {
-					rests(t, laid(m, p, head, at, tail), p)
-					others := slices.DeleteFunc(between(head, tail), func(x int) bool { return x == at })
-					rests(t, laid(m, p, head, at, tail, others...), p)
-					alone := laid(m, p, head, at, tail, at)
+					rests(t, samples.Laid(m, p, head, at, tail), p)
+					others := slices.DeleteFunc(samples.Between(head, tail), func(x int) bool { return x == at })
+					rests(t, samples.Laid(m, p, head, at, tail, others...), p)
+					alone := samples.Laid(m, p, head, at, tail, at)
 					replays(t, alone, p, alone.Rings[p.Log].Slots[at%c.Slots])
 				}
 			}
@@ -365,7 +335,7 @@ func TestEachReplicaComesToTheSame(t *testing.T) {
 		c := api.Config{Object: kind, Replicas: 2, Logs: 2, Threads: 4, Slots: 16}
 		m := samples.FreshMachine(c)
 		for log := range 2 {
-			m.Rings[log] = laid(m, place{Log: log}, 0, 0, 16, between(0, 16)...).Rings[log]
+			m.Rings[log] = samples.Laid(m, place{Log: log}, 0, 0, 16, samples.Between(0, 16)...).Rings[log]
 		}
 		for turn := range 100 {
 			// One replica is behind the other, by turns; both go through the two logs side by side.
@@ -449,8 +419,8 @@ func TestSeveralThingsWrong(t *testing.T) {
 		for _, p := range samples.Places(c) {
 			refuses(t, wrong, p)
 			// Its cursor is beyond the tail, or ahead of the head, or there is none.
-			refuses(t, laid(samples.BusyMachine(c, 4), p, 3, 5, 4, between(3, 5)...), p)
-			refuses(t, laid(samples.BusyMachine(c, 4), p, 3, 2, 4, between(2, 5)...), p)
+			refuses(t, samples.Laid(samples.BusyMachine(c, 4), p, 3, 5, 4, samples.Between(3, 5)...), p)
+			refuses(t, samples.Laid(samples.BusyMachine(c, 4), p, 3, 2, 4, samples.Between(2, 5)...), p)
 			refuses(t, samples.MachineWith(samples.BusyMachine(c, 4), func(m *api.Machine) { m.Replicas[p.Replica].Cursors = nil }), p)
 		}
 	}
@@ -474,7 +444,7 @@ func TestAnswersHangOnNothingElse(t *testing.T) {
 	c := api.Config{Object: api.ObjectQueue, Replicas: 2, Logs: 2, Threads: 4, Slots: 16}
 	p := place{Replica: 1, Log: 1}
 	s := api.Slot{Op: api.Op{Row: 2, Arg: 77}, Thread: 3}
-	one, none := withOne(samples.BusyMachine(c, 8), p, 17, s.Op, s.Thread), laid(samples.BusyMachine(c, 8), p, 9, 11, 20, 10, 12)
+	one, none := withOne(samples.BusyMachine(c, 8), p, 17, s.Op, s.Thread), samples.Laid(samples.BusyMachine(c, 8), p, 9, 11, 20, 10, 12)
 	behind, old := replayed(one, p, s), samples.CopiedMachine(one)
 	faults := samples.Together(func() string {
 		for range 100 {

@@ -69,3 +69,33 @@ func WhoWaits(m api.Machine, p Place) []int {
 		return !t.Posted || t.Log != p.Log || t.Op.Code == 2 || t.Op.Code == 3
 	})
 }
+
+// Laid: m, in which that place's log has the entries from head on below tail, and its replica comes to entry at, all others to the tail; the slots of these numbers are alive, those behind the tail too, and no other ones.
+func Laid(m api.Machine, p Place, head, at, tail int, alive ...int) api.Machine {
+	c := m.Config
+	return MachineWith(m, func(m *api.Machine) {
+		r := Ring(c.Slots, head, tail)
+		for number := head; number < head+c.Slots; number++ {
+			s := &r.Slots[number%c.Slots]
+			s.Thread %= c.Threads
+			s.Bit = number / c.Slots % 2
+			if slices.Contains(alive, number) {
+				s.Bit = 1 - s.Bit
+			}
+		}
+		m.Rings[p.Log] = r
+		for i := range m.Replicas {
+			m.Replicas[i].Cursors[p.Log] = tail
+		}
+		m.Replicas[p.Replica].Cursors[p.Log] = at
+	})
+}
+
+// Between: the numbers from head on below tail.
+func Between(head, tail int) []int {
+	var all []int
+	for number := head; number < tail; number++ {
+		all = append(all, number)
+	}
+	return all
+}

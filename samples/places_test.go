@@ -81,3 +81,46 @@ func TestWhoWaitsIsWrittenOut(t *testing.T) {
 		}
 	}
 }
+
+func TestBetweenIsFromTheOneBelowTheOther(t *testing.T) {
+	for _, x := range []struct {
+		head, tail int
+		want       []int
+	}{
+		{0, 0, nil}, {0, 1, []int{0}}, {3, 6, []int{3, 4, 5}}, {6, 3, nil}, {1048574, 1048576, []int{1048574, 1048575}},
+	} {
+		if got := Between(x.head, x.tail); !slices.Equal(got, x.want) {
+			t.Errorf("from %d below %d: %v", x.head, x.tail, got)
+		}
+	}
+}
+
+func TestLaidIsThatLogAndTheseCursors(t *testing.T) {
+	for _, c := range FewConfigs() {
+		m := BusyMachine(c, 6)
+		for _, p := range Places(c) {
+			old := CopiedMachine(m)
+			got := Laid(m, p, 5, 6, 7, 5, 7)
+			if !SameMachine(m, old) {
+				t.Errorf("%+v: at %+v: what was given is changed", c, p)
+			}
+			want := MachineWith(m, func(x *api.Machine) {
+				x.Rings[p.Log] = got.Rings[p.Log]
+				for i := range x.Replicas {
+					x.Replicas[i].Cursors[p.Log] = 7
+				}
+				x.Replicas[p.Replica].Cursors[p.Log] = 6
+			})
+			r := got.Rings[p.Log]
+			if !SameMachine(got, want) || r.Head != 5 || r.Tail != 7 || r.Fence != 0 || len(r.Slots) != c.Slots {
+				t.Errorf("%+v: at %+v: %+v", c, p, got)
+			}
+			for number := 5; number < 5+c.Slots; number++ {
+				s := r.Slots[number%c.Slots]
+				if live := s.Bit == 1-number/c.Slots%2; live != (number == 5 || number%c.Slots == 7%c.Slots) || s.Thread >= c.Threads {
+					t.Errorf("%+v: at %+v: entry %d: %+v", c, p, number, s)
+				}
+			}
+		}
+	}
+}
